@@ -345,18 +345,24 @@ func TestDeepAndGreat(t *testing.T) {
 // Of a term without end a call tells the zero value, not a piece of it.
 func TestWithoutEnd(t *testing.T) {
 	t.Parallel()
-	for _, x := range []api.Term{ring(api.TermApp, 2), ring(api.TermLet, 3), doubled(api.TermPi, 80, c), app(c, ring(api.TermLam, 2)), sort(ringLevel(1)), app(c, sort(ringLevel(2)))} {
+	for _, x := range []api.Term{ring(api.TermApp, 2), ring(api.TermLet, 3), doubled(api.TermPi, 80, c), app(c, ring(api.TermLam, 2))} {
 		for name, told := range answers(x, c, nil) {
 			for _, a := range told {
-				if !alike(a, api.Term{}) {
-					t.Errorf("%s of a term of kind %d: a piece is told", name, x.Kind)
-				}
+				want(t, name+" of a term without end", a, api.Term{})
 			}
 		}
 	}
-	for name, got := range map[string]api.Term{"Put": term.Put(v(0), ring(api.TermApp, 2)), "Apply": term.Apply(c, []api.Term{d, ring(api.TermApp, 2), d}), "Put of levels": term.Put(v(0), sort(ringLevel(2)))} {
-		if !alike(got, api.Term{}) {
-			t.Errorf("%s: a piece is told", name)
+	for name, got := range map[string]api.Term{"Put": term.Put(v(0), ring(api.TermApp, 2)), "Apply": term.Apply(c, []api.Term{d, ring(api.TermApp, 2), d})} {
+		want(t, name+" with a term without end", got, api.Term{})
+	}
+}
+
+// Of Levels without end, and ones that no memory holds, a call tells no piece either.
+func TestLevelsWithoutEnd(t *testing.T) {
+	for _, x := range []api.Term{sort(ringLevel(1)), app(c, sort(ringLevel(2))), con("c", u, ringLevel(3)), sort(doubledLevel(80, u)), lam(sort(maxi(u, succ(ringLevel(60000)))), v(0))} {
+		head, args := term.Spine(x)
+		for _, a := range append(args, head, term.Lift(x, 1, 0), term.Put(x, c), term.Put(v(0), x), term.Apply(x, nil), term.Apply(c, []api.Term{d, x})) {
+			want(t, "a term with Levels without end", a, api.Term{})
 		}
 	}
 }

@@ -2,10 +2,8 @@ package term
 
 import (
 	"iter"
-	"slices"
 
 	"touchstone/api"
-	"touchstone/level"
 )
 
 // mostParts is of how many parts a term is walked: one that is handed in may have no end.
@@ -73,10 +71,10 @@ func (p part) free() (n int, ok bool) {
 	return p.term.N - p.binders, true
 }
 
-// isAlike tells whether all fields of p and q are alike; of their Args it asks only how many they are.
+// isAlike tells whether all fields of p and q but their Levels are alike; of their Args it asks only how many they are.
 func (p part) isAlike(q part) bool {
 	a, b := p.term, q.term
-	return a.Kind == b.Kind && a.N == b.N && a.Name == b.Name && len(a.Args) == len(b.Args) && slices.EqualFunc(a.Levels, b.Levels, level.Equal)
+	return a.Kind == b.Kind && a.N == b.N && a.Name == b.Name && len(a.Args) == len(b.Args)
 }
 
 // walk goes through a term: itself first, Args in order. It keeps its own list of where it is,

@@ -9,7 +9,6 @@ import (
 	"testing"
 
 	"touchstone/api"
-	"touchstone/level"
 	"touchstone/term"
 )
 
@@ -636,18 +635,6 @@ func TestLevels(t *testing.T) {
 		}
 		want(t, "Levels of "+show(x), term.Levels(x, by), leveled(x, by))
 	}
-}
-
-// leveled: Levels, as the chapter says.
-func leveled(t api.Term, by []api.Level) api.Term {
-	out := clone(t)
-	for i, l := range t.Levels {
-		out.Levels[i] = level.Put(l, by)
-	}
-	for i, a := range t.Args {
-		out.Args[i] = leveled(a, by)
-	}
-	return out
 }
 
 // P5.4: Spine, and Apply, there and back.

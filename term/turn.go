@@ -1,63 +1,39 @@
 package term
 
 import (
-	"slices"
-
 	"touchstone/api"
 	"touchstone/level"
 )
 
-const (
-	mostTold   = 1 << 25 // parts of a term that is told: more have more bytes than an answer may have
-	mostLevels = 1 << 26 // parts of all its Levels: likewise
-	mostNested = 1 << 16 // parts of a Level in one another
-)
+// mostTold is how many parts a term has that is told: more have more bytes than an answer may have.
+const mostTold = 1 << 25
 
 // weight is how many parts a term has, and its Levels have in all.
 type weight struct{ parts, levels int }
-
-// addLevel adds l, which is so deep, with by put in, and tells whether there is room for it.
-func (w *weight) addLevel(l *api.Level, by []api.Level, deep int) bool {
-	if l.Kind == api.LevelParam && l.N >= 0 && l.N < len(by) {
-		return w.addLevel(&by[l.N], nil, deep)
-	}
-	w.levels++
-	if w.levels > mostLevels || deep > mostNested {
-		return false
-	}
-	for i := range l.Args {
-		if !w.addLevel(&l.Args[i], by, deep+1) {
-			return false
-		}
-	}
-	return true
-}
-
-// add adds p itself, with by put in its Levels, and tells whether there is room for it.
-func (w *weight) add(p part, by []api.Level) bool {
-	w.parts++
-	if w.parts == mostParts {
-		return false
-	}
-	for i := range p.term.Levels {
-		if !w.addLevel(&p.term.Levels[i], by, 1) {
-			return false
-		}
-	}
-	return true
-}
 
 // mayBeTold tells whether a term that is so great may be told.
 func (w weight) mayBeTold() bool {
 	return w.parts <= mostTold && w.levels <= mostLevels
 }
 
-// weigh is t's weight, with by put in its Levels.
+// weigh is t's weight.
 // Not ok: it may have no end, or a part has other Args than its Kind names. All else can be turned.
-func weigh(t *api.Term, by []api.Level) (w weight, ok bool) {
+func weigh(t *api.Term) (w weight, ok bool) {
+	return weighBy(t, new(tally).of)
+}
+
+// weighBy is t's weight, where a Level has as many parts as size says.
+func weighBy(t *api.Term, size func(*api.Level) int) (w weight, ok bool) {
 	for p := range parts(t) {
-		if !p.isFormed() || !w.add(p, by) {
+		w.parts++
+		if w.parts == mostParts || !p.isFormed() {
 			return weight{}, false
+		}
+		for i := range p.term.Levels {
+			w.levels += size(&p.term.Levels[i])
+			if w.levels > mostLevels {
+				return weight{}, false
+			}
 		}
 	}
 	return w, true
@@ -66,7 +42,7 @@ func weigh(t *api.Term, by []api.Level) (w weight, ok bool) {
 // turn makes a new term of one: what becomes of its Vars, and of its Levels; all else stays as it is.
 type turn struct {
 	variable func(part) api.Term
-	level    func(api.Level) api.Level
+	levels   func([]api.Level) []api.Level
 	jobs     []job // that are still to be done: a list, since terms may be deeper than a stack of calls
 }
 
@@ -103,10 +79,7 @@ func (u *turn) doVar(j job) {
 
 func (u *turn) doLeaf(j job) {
 	t := j.from.term
-	*j.to = api.Term{Kind: t.Kind, N: t.N, Name: t.Name, Levels: slices.Grow([]api.Level(nil), len(t.Levels))}
-	for _, l := range t.Levels {
-		j.to.Levels = append(j.to.Levels, u.level(l))
-	}
+	*j.to = api.Term{Kind: t.Kind, N: t.N, Name: t.Name, Levels: u.levels(t.Levels)}
 }
 
 func (u *turn) doBranch(j job) {
@@ -117,12 +90,21 @@ func (u *turn) doBranch(j job) {
 	}
 }
 
-// copied is l in new memory.
-func copied(l api.Level) api.Level {
-	out := api.Level{Kind: l.Kind, N: l.N}
-	out.Args = slices.Grow(out.Args, len(l.Args))
-	for _, a := range l.Args {
-		out.Args = append(out.Args, copied(a))
+// copied are levels in new memory, all below too. What is still to be copied stands in a list,
+// since Levels may be deeper than a stack of calls.
+func copied(levels []api.Level) []api.Level {
+	out := append([]api.Level(nil), levels...)
+	open := [][]api.Level{out}
+	for len(open) > 0 {
+		last := len(open) - 1
+		fresh := open[last]
+		open = open[:last]
+		for i := range fresh {
+			fresh[i].Args = append([]api.Level(nil), fresh[i].Args...)
+			if len(fresh[i].Args) > 0 {
+				open = append(open, fresh[i].Args)
+			}
+		}
 	}
 	return out
 }
@@ -140,7 +122,7 @@ func (l lift) variable(p part) api.Term {
 
 // lifted is t, all of it new, with its free Vars lifted.
 func lifted(t *api.Term, by, from int) api.Term {
-	u := turn{variable: lift{by, from}.variable, level: copied}
+	u := turn{variable: lift{by, from}.variable, levels: copied}
 	return u.of(t)
 }
 
@@ -159,9 +141,34 @@ func (u put) variable(p part) api.Term {
 	return out
 }
 
-// putLevels has levels for the parameters of Levels.
-type putLevels struct{ by []api.Level }
+// mostPut is how many parts a level has that level.Put tells: of a greater one it tells the zero value.
+const mostPut = 1<<16 + 1
 
-func (p putLevels) level(l api.Level) api.Level {
-	return level.Put(l, p.by)
+// putLevels has levels for the parameters of Levels. What level.Put tells of none is not asked of it:
+// each time it would go a long way to find out.
+type putLevels struct {
+	by    []api.Level
+	sizes tally
+}
+
+func newPutLevels(by []api.Level) *putLevels {
+	return &putLevels{by, tally{by: by}}
+}
+
+// size is how many parts level.Put tells of l.
+func (p *putLevels) size(l *api.Level) int {
+	if n := p.sizes.of(l); n <= mostPut {
+		return n
+	}
+	return 1
+}
+
+func (p *putLevels) of(levels []api.Level) []api.Level {
+	out := make([]api.Level, len(levels))
+	for i := range levels {
+		if p.sizes.of(&levels[i]) <= mostPut {
+			out[i] = level.Put(levels[i], p.by)
+		}
+	}
+	return out
 }
