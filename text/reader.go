@@ -22,7 +22,7 @@ type reader struct {
 }
 
 func newReader(s string) *reader {
-	r := &reader{text: s}
+	r := &reader{}
 	r.terms = map[byte]func(int) api.Term{
 		'#':  r.variable,
 		'*':  r.sort,
@@ -44,7 +44,9 @@ func newReader(s string) *reader {
 	}
 	if len(s) > api.MaxText {
 		r.fail(0, api.ErrLong)
+		return r
 	}
+	r.text = s
 	return r
 }
 
@@ -201,6 +203,12 @@ func (r *reader) name() string {
 func (r *reader) isInName() bool {
 	c := r.next()
 	return isLetter(c) || isDigit(c) || c == '_' || c == '.' && isLetter(r.byteAt(r.at+1))
+}
+
+// isName tells whether s as a whole is a name.
+func isName(s string) bool {
+	r := reader{text: s}
+	return isLetter(r.next()) && r.name() == s
 }
 
 func isLetter(c byte) bool {
