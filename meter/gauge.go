@@ -1,28 +1,33 @@
 package meter
 
-import "touchstone/api"
+import (
+	"math/bits"
+
+	"touchstone/api"
+)
 
 const (
-	// mostMet is how many terms and Levels are gone through: more have more bytes than what is handed in.
-	mostMet = 1 << 26
-	// mostUnnoted is how many of these are gone through without a note of where they lie: notes cost time and room,
-	// and a term of MaxCells parts, with as many Levels as may be, has fewer.
+	// mostUnnoted is how many terms and Levels are gone through without a note of where they lie: notes cost time
+	// and room, and a term of MaxCells parts, with as many Levels as may be, has fewer.
 	mostUnnoted = 1 << 20
+	// mostArgs is how many terms are counted one by one, once notes pay.
+	mostArgs = 3
 )
 
 // gauge holds a term against how many parts it may have. It counts them itself, since term.Size
 // goes no further than 2^20 parts, and says nothing of Levels.
 type gauge struct {
-	left   int              // parts that there is still room for
-	met    int              // terms and Levels that were gone through
-	open   []span           // each below the one ahead of it: a list, since terms may be deeper than a stack of calls
-	sizes  notes[api.Term]  // parts of lists, all below too; 0, as long as these are being counted
-	fitted notes[api.Level] // lists all of whose Levels are within bounds
+	left   int    // parts that there is still room for
+	met    int    // terms and Levels that were gone through, as long as notes do not pay
+	open   []span // each below the one ahead of it: a list, since terms may be deeper than a stack of calls
+	sizes  notes  // parts of lists, all below too; 0, as long as these are being counted
+	fitted runs
 }
 
 // span is a list of terms that are being counted.
 type span struct {
 	terms []api.Term
+	half  int // where the second half begins; 0, if the terms are counted one by one
 	next  int // which of the terms comes next
 	left  int // parts that there was room for ahead of them
 }
@@ -39,12 +44,21 @@ func (g *gauge) holds(t *api.Term) bool {
 // step takes one part more, or ends a list. It tells whether there is still room.
 func (g *gauge) step() bool {
 	s := &g.open[len(g.open)-1]
-	if s.next == len(s.terms) {
+	at := s.next
+	switch {
+	case at == len(s.terms):
 		g.leave()
 		return true
+	case s.half == 0:
+		s.next++
+		return g.takes(&s.terms[at])
+	case at == 0:
+		s.next = s.half
+		return g.enters(s.terms[:s.half])
+	default:
+		s.next = len(s.terms)
+		return g.enters(s.terms[s.half:])
 	}
-	s.next++
-	return g.takes(&s.terms[s.next-1])
 }
 
 // takes tells whether there is room for t itself. What stands below it comes next.
@@ -63,19 +77,11 @@ func (g *gauge) takesParts(count int) bool {
 
 // takesLevels tells whether each of levels is within its bounds.
 func (g *gauge) takesLevels(levels []api.Level) bool {
-	if len(levels) == 0 {
-		return true
-	}
-	if _, known := g.fitted[spotOf(levels)]; known {
-		return true
-	}
-	if !g.meets(len(levels)) || !areWithin(levels) {
-		return false
-	}
+	g.meet(len(levels))
 	if g.paysToNote() {
-		g.fitted.put(levels, len(levels))
+		return g.fitted.hold(levels)
 	}
-	return true
+	return areWithin(levels)
 }
 
 // enters begins to count terms, unless it is known how many parts they have.
@@ -87,11 +93,23 @@ func (g *gauge) enters(terms []api.Term) bool {
 		// What stands below itself has no end.
 		return size > 0 && g.takesParts(size)
 	}
+	s := span{terms: terms, left: g.left}
 	if g.paysToNote() {
 		g.sizes.put(terms, 0)
+		s.half = halfOf(len(terms))
 	}
-	g.open = append(g.open, span{terms: terms, left: g.left})
-	return g.meets(len(terms))
+	g.open = append(g.open, s)
+	g.meet(len(terms))
+	return true
+}
+
+// halfOf is where the second half of so many terms begins, or 0. It is a power of two, so that lists which lie
+// in one another's memory have many halves in common: little of it may hold more terms than can be gone through.
+func halfOf(count int) int {
+	if count <= mostArgs {
+		return 0
+	}
+	return 1 << (bits.Len(uint(count-1)) - 1)
 }
 
 // leave ends the list that was entered last.
@@ -104,10 +122,11 @@ func (g *gauge) leave() {
 	}
 }
 
-// meets tells whether so many terms, or Levels, more can be gone through.
-func (g *gauge) meets(count int) bool {
-	g.met += count
-	return g.met <= mostMet
+// meet counts terms, or Levels, that are gone through.
+func (g *gauge) meet(count int) {
+	if !g.paysToNote() {
+		g.met += count
+	}
 }
 
 func (g *gauge) paysToNote() bool {

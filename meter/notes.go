@@ -1,22 +1,24 @@
 package meter
 
-// notes are numbers of lists, by where these lie.
-type notes[T any] map[spot[T]]int
+import "touchstone/api"
+
+// notes are numbers of lists of terms, by where these lie.
+type notes map[spot]int
 
 // spot is where a list, which is not empty, lies.
-type spot[T any] struct {
-	first  *T
+type spot struct {
+	first  *api.Term
 	length int
 }
 
-func spotOf[T any](list []T) spot[T] {
-	return spot[T]{&list[0], len(list)}
+func spotOf(terms []api.Term) spot {
+	return spot{&terms[0], len(terms)}
 }
 
-// put notes a number of list.
-func (n *notes[T]) put(list []T, number int) {
+// put notes a number of terms.
+func (n *notes) put(terms []api.Term, number int) {
 	if *n == nil {
-		*n = notes[T]{}
+		*n = notes{}
 	}
-	(*n)[spotOf(list)] = number
+	(*n)[spotOf(terms)] = number
 }

@@ -131,21 +131,3 @@ func TestFitsSharedLevels(t *testing.T) {
 	}
 	wantFits(t, "a Level that is doubled", api.MaxCells, sort(ended), api.ErrCells)
 }
-
-// R1: Levels whose lists lie in one another's memory, and are more than can be handed in, are gone through only so far.
-func TestFitsOverlappingLevels(t *testing.T) {
-	memory := make([]api.Level, 1<<17)
-	next := 0
-	var part func(parts int) api.Term
-	part = func(parts int) api.Term {
-		if parts == 1 {
-			next++
-			return con("c", memory[next:]...)
-		}
-		one := (parts - 1) / 2
-		one -= (one + 1) % 2
-		return app(part(one), part(parts-1-one))
-	}
-	wantFits(t, "few that overlap", 101, part(101), api.OK)
-	wantFits(t, "many that overlap", api.MaxCells, part(api.MaxCells-1), api.ErrCells)
-}
