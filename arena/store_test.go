@@ -31,19 +31,53 @@ func TestNothingIsLeft(t *testing.T) {
 			t.Error("it is kept")
 		}
 	}
-	if a.terms.size() != 0 || a.lists.size() != 0 || len(a.terms.numbers) != 0 || len(a.lists.numbers) != 0 {
-		t.Errorf("%d terms and %d lists are left", a.terms.size(), a.lists.size())
+	if a.terms.size() != 0 || lists(a) != 0 || len(a.terms.numbers) != 0 || len(a.singles.numbers) != 0 || len(a.pairs.numbers) != 0 {
+		t.Errorf("%d terms and %d lists are left", a.terms.size(), lists(a))
 	}
 }
 
-// Each list is kept once: those of other terms, and ends of others, too.
+// lists: how many lists of Levels, and halves of such, are kept.
+func lists(a *Arena) int { return a.singles.size() + a.pairs.size() }
+
+// Each list is kept once: those of other terms, and halves of others, too.
 func TestListsOnce(t *testing.T) {
 	a := New(100)
 	u, w := api.Level{Kind: api.LevelParam}, api.Level{Kind: api.LevelParam, N: 1}
-	for i, x := range []api.Term{levels(doubles(9)), levels(u, w, u), levels(w, u), levels(u), levels(doubles(8), u), {Kind: api.TermSort, Levels: []api.Level{u}}} {
+	for i, x := range []api.Term{levels(doubles(9)), levels(u, w, u), levels(u, w), levels(w, u), levels(u), levels(doubles(8), u), {Kind: api.TermSort, Levels: []api.Level{u}}, levels(u, w, u, w), levels(u, w, u)} {
 		a.Add(x)
-		if want := []int{19, 22, 22, 22, 23, 23}[i]; a.lists.size() != want {
-			t.Errorf("%d: %d lists; want %d", i, a.lists.size(), want)
+		if want := []int{19, 23, 23, 24, 24, 25, 25, 26, 26}[i]; lists(a) != want {
+			t.Errorf("%d: %d lists; want %d", i, lists(a), want)
+		}
+	}
+}
+
+// applied: a Const, applied to Consts with each of these lists.
+func applied(all [][]api.Level) api.Term {
+	x := levels()
+	for _, l := range all {
+		x = api.Term{Kind: api.TermApp, Args: []api.Term{x, levels(l...)}}
+	}
+	return x
+}
+
+// Lists that lie in one another's memory take little room: far less than all of them would, one by one.
+func TestRoomOfOverlapping(t *testing.T) {
+	const count, length = 2000, 1 << 14
+	memory := make([]api.Level, count+length)
+	for i := range memory {
+		memory[i].Kind = i
+	}
+	var begun, ended, moved [][]api.Level
+	for i := range count {
+		begun = append(begun, memory[:length-i])
+		ended = append(ended, memory[i:length])
+		moved = append(moved, memory[i:i+length])
+	}
+	for what, all := range map[string][][]api.Level{"beginnings": begun, "ends": ended, "moved ones": moved} {
+		a := New(2*count + 1)
+		id, e := a.Add(applied(all))
+		if id != 2*count || e != api.OK || a.singles.size() > count+length || a.pairs.size() > 15*(count+length) {
+			t.Errorf("%s: %d, error %d, %d Levels, %d halves", what, id, e, a.singles.size(), a.pairs.size())
 		}
 	}
 }

@@ -25,28 +25,33 @@ type job struct {
 // since Levels may be deeper than a stack of calls.
 func (a *Arena) levels(number int) (out []api.Level) {
 	jobs := []job{{number, &out}}
+	var list []single
 	for len(jobs) > 0 {
 		last := len(jobs) - 1
 		j := jobs[last]
 		jobs = jobs[:last]
-		*j.to = a.bareLevels(j.number)
-		for i := range *j.to {
-			r := a.lists.keys[j.number-1]
-			if r.below > 0 {
-				jobs = append(jobs, job{r.below, &(*j.to)[i].Args})
-			}
-			j.number = r.rest
+		list = a.appendList(list[:0], j.number)
+		if len(list) == 0 {
+			continue
+		}
+		*j.to = make([]api.Level, len(list))
+		for i, s := range list {
+			l := &(*j.to)[i]
+			l.Kind, l.N = s.kind, s.n
+			jobs = append(jobs, job{s.below, &l.Args})
 		}
 	}
 	return out
 }
 
-// bareLevels is the list of Levels with that number, without what stands below them.
-func (a *Arena) bareLevels(number int) (out []api.Level) {
-	for number > 0 {
-		r := a.lists.keys[number-1]
-		out = append(out, api.Level{Kind: r.kind, N: r.n})
-		number = r.rest
+// appendList puts the Levels of the list with that number behind others. Halves of halves are soon at their end.
+func (a *Arena) appendList(to []single, number int) []single {
+	switch {
+	case number < 0:
+		return append(to, a.singles.keys[ofSingle(number)])
+	case number > 0:
+		p := a.pairs.keys[ofPair(number)]
+		return a.appendList(a.appendList(to, p.first), p.rest)
 	}
-	return out
+	return to
 }

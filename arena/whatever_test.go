@@ -138,18 +138,22 @@ func overlapping(n int) api.Level {
 	return api.Level{Kind: api.LevelMax, Args: memory}
 }
 
-// R1: Levels that lie in little memory, but are more than can be gone through, are ErrForm.
+// R1: Levels that lie in one another's memory, and are more than can be gone through, are kept as others are.
 func TestOverlapping(t *testing.T) {
 	a := arena.New(10)
 	for i, n := range []int{0, 1, 2, 3, 12, 18} {
 		wantAdd(t, a, sort(overlapping(n)), i)
 		wantTerm(t, a, i, sort(overlapping(n)))
 	}
-	wantAdd(t, a, sort(overlapping(1000)), 6)
-	wantAdd(t, a, sort(overlapping(1001)), 7)
-	if got, e := a.Term(6); !alike(got, api.Term{}) || e != api.ErrLong {
-		t.Errorf("Term tells %s, error %d", show(got), e)
+	for i, n := range []int{1000, 1001, 1 << 14, 1000, 1 << 14} {
+		want := []int{6, 7, 8, 6, 8}[i]
+		if id, e := a.Add(sort(overlapping(n))); id != want || e != api.OK {
+			t.Errorf("%d that overlap: %d, error %d; want %d", n, id, e, want)
+		}
 	}
-	wantError(t, a, sort(overlapping(1<<14)), api.ErrForm)
-	wantCost(t, a, sort(overlapping(1<<14)), 0)
+	for id := 6; id <= 8; id++ {
+		if got, e := a.Term(id); !alike(got, api.Term{}) || e != api.ErrLong {
+			t.Errorf("Term tells %s, error %d", show(got), e)
+		}
+	}
 }
