@@ -1,0 +1,80 @@
+package whnf
+
+import "touchstone/api"
+
+// How many parts a term that is told has, and its Levels have in all: more have more bytes than an answer may have.
+const (
+	mostTold   = 1 << 25
+	mostLevels = 1 << 26
+)
+
+// telling makes an api.Term of a node, all of it new. What is still to be made stands in lists, since terms,
+// and Levels that are handed in, may be deeper than a stack of calls.
+type telling struct {
+	open   []place
+	levels []*api.Level
+	left   int // parts of Levels that there is still room for
+}
+
+// place is a node that is to be told, and where.
+type place struct {
+	from *node
+	to   *api.Term
+}
+
+// told is n as an api.Term. Not ok: it is too great.
+func told(n *node) (out api.Term, ok bool) {
+	if n.size > mostTold {
+		return api.Term{}, false
+	}
+	t := telling{open: []place{{n, &out}}, left: mostLevels}
+	for len(t.open) > 0 {
+		last := len(t.open) - 1
+		p := t.open[last]
+		t.open = t.open[:last]
+		if !t.tell(p) {
+			return api.Term{}, false
+		}
+	}
+	return out, true
+}
+
+// tell brings p's node to its place. What stands below it comes later.
+func (t *telling) tell(p place) bool {
+	n := p.from
+	n.show()
+	*p.to = api.Term{Kind: n.kind, N: n.number, Name: n.name, Levels: append([]api.Level(nil), n.levels...)}
+	if len(n.args) > 0 {
+		p.to.Args = make([]api.Term, len(n.args))
+	}
+	for i, a := range n.args {
+		t.open = append(t.open, place{a, &p.to.Args[i]})
+	}
+	t.left -= len(n.levels)
+	for i := range p.to.Levels {
+		if !t.renew(&p.to.Levels[i]) {
+			return false
+		}
+	}
+	return true
+}
+
+// renew brings all that stands below l to new memory. Not ok: there is no room for it, or it may have no end.
+func (t *telling) renew(l *api.Level) bool {
+	t.levels = append(t.levels[:0], l)
+	least := max(t.left-mostParts, 0)
+	for len(t.levels) > 0 {
+		last := len(t.levels) - 1
+		l = t.levels[last]
+		t.levels = t.levels[:last]
+		t.left -= len(l.Args)
+		if t.left < least {
+			return false
+		}
+		l.Args = append([]api.Level(nil), l.Args...)
+		for i := range l.Args {
+			t.levels = append(t.levels, &l.Args[i])
+		}
+	}
+	return true
+}
