@@ -45,27 +45,8 @@ func TestDrawnRuns(t *testing.T) {
 			}
 			told[want]++
 		}
-		for l, n := range k.ahead {
-			if n < 1 || len(l.Args) > 0 {
-				t.Fatalf("round %d: a note of %d", round, n)
-			}
-		}
 	}
 	if told[true] < 10000 || told[false] < 5000 {
 		t.Errorf("what was drawn tells little: %v", told)
-	}
-}
-
-// Notes are few: far fewer than the Levels that they tell of.
-func TestFewRuns(t *testing.T) {
-	memory := make([]api.Level, 1<<16)
-	k := runs{}
-	for i := range 1000 {
-		if !k.hold(memory[i : len(memory)-i]) {
-			t.Fatal("bare Levels are not within their bounds")
-		}
-	}
-	if most := 1000 + 2*len(memory)/mostBetween; len(k.ahead) > most {
-		t.Errorf("%d notes; want at most %d", len(k.ahead), most)
 	}
 }

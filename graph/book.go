@@ -1,26 +1,32 @@
-package whnf
+package graph
 
 import (
 	"touchstone/api"
 	"touchstone/env"
 )
 
-// book has what steps ask an environment for, each name read once.
-type book struct {
+// Book has what steps ask an environment for, each name read once. What a Node knows of its steps it knows of one Book,
+// and of one count of cells: it is not to be handed to another one, or with more.
+type Book struct {
 	env   *env.Env
 	facts map[string]fact
+}
+
+// NewBook is a Book of e, which is not to change as long as it is asked.
+func NewBook(e *env.Env) *Book {
+	return &Book{env: e}
 }
 
 // fact is what is known of a name.
 type fact struct {
 	params int
-	value  *node   // of a definition
+	value  *Node   // of a definition
 	family *family // of a recursor
 }
 
 // of is what is known of n. It is nothing, unless n is a Const with as many Levels as there are parameters.
-func (b *book) of(n *node) fact {
-	if !n.is(api.TermConst) {
+func (b *Book) of(n *Node) fact {
+	if !n.Is(api.TermConst) || len(n.name) > api.MaxName { // of a great text, which is no name, nothing is known
 		return fact{}
 	}
 	f, known := b.facts[n.name]
@@ -28,24 +34,24 @@ func (b *book) of(n *node) fact {
 		f = b.find(n.name)
 		b.note(n.name, f)
 	}
-	if len(n.levels) != f.params {
+	if n.levels.Len() != f.params {
 		return fact{}
 	}
 	return f
 }
 
-func (b *book) note(name string, f fact) {
+func (b *Book) note(name string, f fact) {
 	if b.facts == nil {
 		b.facts = map[string]fact{}
 	}
 	b.facts[name] = f
 }
 
-func (b *book) find(name string) fact {
+func (b *Book) find(name string) fact {
 	d, _ := b.env.Find(name)
 	switch d.Kind {
 	case api.DeclDef:
-		return fact{params: d.Params, value: read(&d.Value)}
+		return fact{params: d.Params, value: Read(&d.Value)}
 	case api.DeclRec:
 		return fact{params: d.Params, family: b.family(d.Family)}
 	}
@@ -53,9 +59,9 @@ func (b *book) find(name string) fact {
 }
 
 // family is the family of that name, or nil, if none of that name has recursors.
-func (b *book) family(name string) *family {
+func (b *Book) family(name string) *family {
 	d, _ := b.env.Find(name)
-	pis := pisOf(read(&d.Type))
+	pis := pisOf(Read(&d.Type))
 	if d.Kind != api.DeclFamily || d.Count < 0 || d.Count > len(pis) {
 		return nil
 	}
@@ -67,7 +73,7 @@ func (b *book) family(name string) *family {
 }
 
 // recursor is the family of the recursor that is s's head; nil, if it is none, or its major is not there.
-func (b *book) recursor(s *spine) *family {
+func (b *Book) recursor(s *spine) *family {
 	f := b.of(s.head).family
 	if f == nil || f.major() >= len(s.args) {
 		return nil
@@ -76,8 +82,8 @@ func (b *book) recursor(s *spine) *family {
 }
 
 // pisOf are the types of the variables that the Pis bind with which t begins.
-func pisOf(t *node) (types []*node) {
-	for t.is(api.TermPi) {
+func pisOf(t *Node) (types []*Node) {
+	for t.Is(api.TermPi) {
 		types = append(types, t.args[0])
 		t = t.args[1]
 	}

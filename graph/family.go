@@ -1,4 +1,4 @@
-package whnf
+package graph
 
 import (
 	"slices"
@@ -17,7 +17,7 @@ type family struct {
 type ctor struct {
 	name   string
 	typ    *api.Term // as long as it was not read
-	fields []*node   // their types, each as seen from where it stands in the constructor's
+	fields []*Node   // their types, each as seen from where it stands in the constructor's
 }
 
 // fixed is how many arguments of a recursor all its hypotheses have: parameters, the motive, cases.
@@ -31,9 +31,9 @@ func (f *family) major() int {
 }
 
 // fieldsOf are the types of the fields of c.
-func (f *family) fieldsOf(c *ctor) []*node {
+func (f *family) fieldsOf(c *ctor) []*Node {
 	if c.typ != nil {
-		pis := pisOf(read(c.typ))
+		pis := pisOf(Read(c.typ))
 		c.fields = pis[min(f.params, len(pis)):]
 		c.typ = nil
 	}
@@ -41,19 +41,19 @@ func (f *family) fieldsOf(c *ctor) []*node {
 }
 
 // isRecursive tells whether a field of that type is recursive.
-func (f *family) isRecursive(field *node) bool {
-	for field.is(api.TermPi) {
+func (f *family) isRecursive(field *Node) bool {
+	for field.Is(api.TermPi) {
 		field = field.args[1]
 	}
-	for field.is(api.TermApp) {
-		field = field.args[0]
+	for field.Is(api.TermApp) {
+		field = field.Args()[0]
 	}
-	return field.is(api.TermConst) && field.name == f.name
+	return field.Is(api.TermConst) && field.name == f.name
 }
 
 // change is what brings t, whose head is a recursor of f, on by its major; nil, if that is no constructor's term.
 func (f *family) change(t, major *spine) func() {
-	if !major.head.is(api.TermConst) {
+	if !major.head.Is(api.TermConst) {
 		return nil
 	}
 	place := slices.IndexFunc(f.ctors, major.isOf)
@@ -88,11 +88,11 @@ func (c caseOf) enter() {
 }
 
 // hypotheses are those of the recursive ones of fields, in order.
-func (c caseOf) hypotheses(fields []*node) (list []*node) {
+func (c caseOf) hypotheses(fields []*Node) (list []*Node) {
 	f, t := c.family, c.t
 	given := append(t.between(0, f.params), fields...)
 	fixed := t.first(f.fixed())
-	levels := relevel{t.head.levels}
+	levels := relevelBy(t.head.levels.all())
 	for i, typ := range f.ctors[c.place].fields {
 		if !f.isRecursive(typ) {
 			continue
@@ -106,13 +106,13 @@ func (c caseOf) hypotheses(fields []*node) (list []*node) {
 // hypothesis is what a hypothesis is made of: a recursor with the arguments that all of them have, what stands for
 // the variables of the field's type, and the field.
 type hypothesis struct {
-	fixed *node
+	fixed *Node
 	put   put
-	field *node
+	field *Node
 }
 
 // of is the hypothesis of a field of type t, behind the family's parameters.
-func (h hypothesis) of(t *node, params int) *node {
+func (h hypothesis) of(t *Node, params int) *Node {
 	types := pisOf(t)
 	binders := len(types)
 	for range types {
@@ -131,7 +131,7 @@ func (h hypothesis) of(t *node, params int) *node {
 }
 
 // variables are those that so many binders bind, the outermost first.
-func variables(binders int) (list []*node) {
+func variables(binders int) (list []*Node) {
 	for i := range binders {
 		list = append(list, variable(binders-1-i))
 	}

@@ -1,4 +1,4 @@
-package whnf
+package graph
 
 import (
 	"math/rand"
@@ -39,10 +39,10 @@ func putBelow(t api.Term, values []api.Term, binders int) api.Term {
 }
 
 // hold: n is told as want, and knows of itself what want is.
-func hold(t *testing.T, what string, n *node, want api.Term) {
+func hold(t *testing.T, what string, n *Node, want api.Term) {
 	t.Helper()
 	size, free := n.size, n.free
-	got, ok := told(n)
+	got, ok := n.Told()
 	if !ok || !term.Equal(got, want) {
 		t.Fatalf("%s: %+v, %v, want %+v", what, got, ok, want)
 	}
@@ -57,30 +57,37 @@ func hold(t *testing.T, what string, n *node, want api.Term) {
 	}
 }
 
-// P13.1: nodes are lifted, and put in one another, as terms are (5: Lift, Put), however often and in whatever order,
-// whether what was lifted was asked for between or not.
+// P13.1, P14.2: nodes are lifted, fed, and put in one another, as terms are (5: Lift, Put), however often and in whatever
+// order, whether what was lifted was asked for between or not.
 func TestNodesLikeTerms(t *testing.T) {
 	r := rand.New(rand.NewSource(13))
 	for range 20000 {
-		x := chance(r, 1+r.Intn(4))
-		n := read(&x)
-		for range 1 + r.Intn(6) {
-			switch r.Intn(4) {
+		x := chance(r, 1+r.Intn(6))
+		n := Read(&x)
+		for range 1 + r.Intn(12) {
+			switch r.Intn(6) {
 			case 0:
 				hold(t, "asked for between", n, x)
+			case 2: // a part, below what it stands below
+				if count := len(x.Args); count > 0 {
+					at := r.Intn(count)
+					n, x = n.Args()[at], x.Args[at]
+				}
+			case 3:
+				n, x = n.Fed(), api.Term{Kind: api.TermApp, Args: []api.Term{term.Lift(x, 1, 0), {Kind: api.TermVar}}}
 			case 1:
 				binders := r.Intn(3)
 				var values []api.Term
-				var nodes []*node
+				var nodes []*Node
 				for range r.Intn(4) {
 					v := chance(r, r.Intn(3))
 					by := r.Intn(3)
 					values = append(values, term.Lift(v, by, 0))
-					nodes = append(nodes, lifted(read(&v), by, 0))
+					nodes = append(nodes, lifted(Read(&v), by, 0))
 				}
 				n, x = put{nodes}.below(n, binders), putBelow(x, values, binders)
 			default:
-				by, from := r.Intn(4), r.Intn(5)
+				by, from := r.Intn(4), r.Intn(9)
 				n, x = lifted(n, by, from), term.Lift(x, by, from)
 			}
 			if term.Size(x, 3000) > 3000 {
@@ -88,5 +95,24 @@ func TestNodesLikeTerms(t *testing.T) {
 			}
 		}
 		hold(t, "at last", n, x)
+	}
+}
+
+// What is lifted again and again, and below its binders, has all lifts in one: no more rises than variables to tell apart.
+func TestFewRises(t *testing.T) {
+	leaf := api.Term{Kind: api.TermApp, Args: []api.Term{{Kind: api.TermVar}, {Kind: api.TermVar, N: 5}}}
+	n := Read(&leaf)
+	for i := range 10000 {
+		n = lifted(n, 1, i%3)
+	}
+	if n.late == nil || len(n.late.rises) > 3 {
+		t.Errorf("%d rises, want no more than 3", len(n.late.rises))
+	}
+	n = Read(&leaf).Fed()
+	for range 10000 {
+		n = n.Fed()
+	}
+	if n.fed == nil || n.fed.of.size != 3 || n.size != 3+2*10001 || n.free != 6+10001 {
+		t.Errorf("fed 10001 times: size %d, free %d", n.size, n.free)
 	}
 }

@@ -1,4 +1,4 @@
-package whnf
+package graph
 
 import "touchstone/api"
 
@@ -12,18 +12,24 @@ const (
 // and Levels that are handed in, may be deeper than a stack of calls.
 type telling struct {
 	open   []place
-	levels []*api.Level
+	levels []renewal
 	left   int // parts of Levels that there is still room for
 }
 
 // place is a node that is to be told, and where.
 type place struct {
-	from *node
+	from *Node
 	to   *api.Term
 }
 
-// told is n as an api.Term. Not ok: it is too great.
-func told(n *node) (out api.Term, ok bool) {
+// renewal is a Level that is to be brought to new memory, and what is to be put in it.
+type renewal struct {
+	level *api.Level
+	by    []api.Level
+}
+
+// Told is n as an api.Term. Not ok: it is too great.
+func (n *Node) Told() (out api.Term, ok bool) {
 	if n.size > mostTold {
 		return api.Term{}, false
 	}
@@ -43,37 +49,40 @@ func told(n *node) (out api.Term, ok bool) {
 func (t *telling) tell(p place) bool {
 	n := p.from
 	n.show()
-	*p.to = api.Term{Kind: n.kind, N: n.number, Name: n.name, Levels: append([]api.Level(nil), n.levels...)}
+	*p.to = api.Term{Kind: n.kind, N: n.number, Name: n.name, Levels: append([]api.Level(nil), n.levels.list...)}
 	if len(n.args) > 0 {
 		p.to.Args = make([]api.Term, len(n.args))
 	}
 	for i, a := range n.args {
 		t.open = append(t.open, place{a, &p.to.Args[i]})
 	}
-	t.left -= len(n.levels)
+	t.left -= n.levels.Len()
 	for i := range p.to.Levels {
-		if !t.renew(&p.to.Levels[i]) {
+		if !t.renew(renewal{&p.to.Levels[i], n.levels.put()}) {
 			return false
 		}
 	}
 	return true
 }
 
-// renew brings all that stands below l to new memory. Not ok: there is no room for it, or it may have no end.
-func (t *telling) renew(l *api.Level) bool {
-	t.levels = append(t.levels[:0], l)
+// renew brings all of r to new memory. Not ok: there is no room for it, or it may have no end.
+func (t *telling) renew(r renewal) bool {
+	t.levels = append(t.levels[:0], r)
 	least := max(t.left-mostParts, 0)
 	for len(t.levels) > 0 {
 		last := len(t.levels) - 1
-		l = t.levels[last]
+		l, by := t.levels[last].level, t.levels[last].by
 		t.levels = t.levels[:last]
+		if p := parameter(l, by); p != nil {
+			*l, by = *p, nil
+		}
 		t.left -= len(l.Args)
 		if t.left < least {
 			return false
 		}
 		l.Args = append([]api.Level(nil), l.Args...)
 		for i := range l.Args {
-			t.levels = append(t.levels, &l.Args[i])
+			t.levels = append(t.levels, renewal{&l.Args[i], by})
 		}
 	}
 	return true

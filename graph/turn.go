@@ -1,22 +1,19 @@
-package whnf
+package graph
 
-import (
-	"touchstone/api"
-	"touchstone/term"
-)
+import "touchstone/api"
 
 // job is a part that is to be turned, how many binders lie around it, and the place for what becomes of it.
 type job struct {
-	from    *node
+	from    *Node
 	binders int
-	to      **node
+	to      **Node
 }
 
 // turned is t, below so many binders, with each part as part says; where that is nil, the part stays, and those below
 // it are turned. They stand in a list, since terms may be deeper than a stack of calls.
-func turned(t *node, binders int, part func(n *node, binders int) *node) (out *node) {
+func turned(t *Node, binders int, part func(n *Node, binders int) *Node) (out *Node) {
 	jobs := []job{{t, binders, &out}}
-	var made []*node
+	var made []*Node
 	for len(jobs) > 0 {
 		last := len(jobs) - 1
 		j := jobs[last]
@@ -37,29 +34,31 @@ func turned(t *node, binders int, part func(n *node, binders int) *node) (out *n
 }
 
 // bare is n with room for its args.
-func (n *node) bare() *node {
+func (n *Node) bare() *Node {
 	n.show()
-	return &node{kind: n.kind, number: n.number, name: n.name, levels: n.levels, args: make([]*node, len(n.args))}
+	return &Node{kind: n.kind, number: n.number, name: n.name, levels: n.levels, args: make([]*Node, len(n.args))}
 }
 
 // put has values for the least free variables, the last one for 0, and makes greater ones less by as many.
-type put struct{ values []*node }
+type put struct{ values []*Node }
 
 // below is t with the values put in, where so many binders lie around it that are not put in.
-func (p put) below(t *node, binders int) *node {
+func (p put) below(t *Node, binders int) *Node {
 	return turned(t, binders, p.part)
 }
 
-func (p put) part(n *node, binders int) *node {
+func (p put) part(n *Node, binders int) *Node {
 	count := len(p.values)
 	if n.free <= binders {
 		return n
 	}
 	// What is lifted over all that is put in does not have it.
-	if l := n.late; l != nil && l.from <= binders && binders+count <= l.from+l.by {
-		return lifted(l.of, l.by-count, l.from)
+	if n.late != nil {
+		if u := n.late.without(binders, count); u != nil {
+			return u
+		}
 	}
-	if !n.is(api.TermVar) {
+	if !n.Is(api.TermVar) {
 		return nil
 	}
 	number := n.number - binders
@@ -69,31 +68,37 @@ func (p put) part(n *node, binders int) *node {
 	return lifted(p.values[count-1-number], binders, 0)
 }
 
-// relevel has levels for the parameters of Levels.
-type relevel struct{ by []api.Level }
+// relevel puts Levels in the place of the parameters of others.
+type relevel struct {
+	by *[]api.Level
+	fitting
+}
 
-// of is t with the levels put in.
-func (r relevel) of(t *node) *node {
-	if len(r.by) == 0 {
+func relevelBy(by []api.Level) *relevel {
+	return &relevel{&by, fitting{by: by}}
+}
+
+// of is t with the Levels put in.
+func (r *relevel) of(t *Node) *Node {
+	if len(*r.by) == 0 {
 		return t
 	}
 	return turned(t, 0, r.part)
 }
 
-func (r relevel) part(n *node, _ int) *node {
+func (r *relevel) part(n *Node, _ int) *Node {
 	if !n.leveled {
 		return n
 	}
-	if len(n.args) > 0 {
+	if len(n.Args()) > 0 {
 		return nil
 	}
 	if n.unfit { // and stays so: it may have no end
 		return n
 	}
 	leaf := n.bare()
-	leaf.levels = term.Levels(api.Term{Kind: api.TermConst, Levels: n.levels}, r.by).Levels
-	// Where none are told, they are too great.
-	leaf.unfit = len(leaf.levels) != len(n.levels) || !fit(leaf.levels)
+	leaf.levels.by = r.by
+	leaf.unfit = !r.fit(n.levels.list)
 	leaf.settle()
 	return leaf
 }

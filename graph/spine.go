@@ -1,37 +1,38 @@
-package whnf
+package graph
 
 import "touchstone/api"
 
 // spine is a term: a head that is no App, and what it is applied to.
 type spine struct {
-	head *node
+	head *Node
 	args []arg // the first one last: there steps take them, and bring others
 }
 
 // arg is what a head is applied to, and how great it is with all that stand behind it, and their Apps.
 type arg struct {
-	node  *node
+	node  *Node
 	size  int
 	unfit bool
 }
 
-func spineOf(t *node) *spine {
+func spineOf(t *Node) *spine {
 	s := new(spine)
 	s.enter(t)
 	return s
 }
 
 // enter makes t what is applied to s's args.
-func (s *spine) enter(t *node) {
-	for t.is(api.TermApp) {
-		s.push(t.args[1])
-		t = t.args[0]
+func (s *spine) enter(t *Node) {
+	for t.Is(api.TermApp) {
+		args := t.Args()
+		s.push(args[1])
+		t = args[0]
 	}
 	s.head = t
 }
 
 // push brings an argument ahead of all others.
-func (s *spine) push(n *node) {
+func (s *spine) push(n *Node) {
 	a := arg{n, n.size + 1, n.unfit}
 	if len(s.args) > 0 {
 		behind := s.args[len(s.args)-1]
@@ -42,7 +43,7 @@ func (s *spine) push(n *node) {
 }
 
 // pushAll brings all of list ahead of the others, in order.
-func (s *spine) pushAll(list []*node) {
+func (s *spine) pushAll(list []*Node) {
 	for i := range list {
 		s.push(list[len(list)-1-i])
 	}
@@ -54,13 +55,13 @@ func (s *spine) drop(count int) {
 }
 
 // at is the argument at that place, from 0 on.
-func (s *spine) at(place int) *node {
+func (s *spine) at(place int) *Node {
 	return s.args[len(s.args)-1-place].node
 }
 
 // between are the arguments from one place on, up to ahead of another.
-func (s *spine) between(from, to int) []*node {
-	var list []*node
+func (s *spine) between(from, to int) []*Node {
+	var list []*Node
 	for place := from; place < to; place++ {
 		list = append(list, s.at(place))
 	}
@@ -78,8 +79,14 @@ func (s *spine) fits(cells int) bool {
 	return size <= cells && !unfit
 }
 
+// Spine is n's head, that is no App, and what it is applied to, in order.
+func (n *Node) Spine() (head *Node, args []*Node) {
+	s := spineOf(n)
+	return s.head, s.between(0, len(s.args))
+}
+
 // applied is n, applied to args in order.
-func applied(n *node, args []*node) *node {
+func applied(n *Node, args []*Node) *Node {
 	for _, a := range args {
 		n = branch(api.TermApp, n, a)
 	}
@@ -87,11 +94,11 @@ func applied(n *node, args []*node) *node {
 }
 
 // first is s's head, applied to so many of its arguments.
-func (s *spine) first(count int) *node {
+func (s *spine) first(count int) *Node {
 	return applied(s.head, s.between(0, count))
 }
 
 // term is s as a term.
-func (s *spine) term() *node {
+func (s *spine) term() *Node {
 	return s.first(len(s.args))
 }
