@@ -8,8 +8,12 @@ import (
 	"touchstone/meter"
 )
 
-// mostDeep is how many calls are in one another. Terms may be deeper, and what comes of them has no end but its fuel.
-const mostDeep = 1 << 12
+const (
+	// mostDeep is how many calls are in one another. Terms may be deeper, and what comes of them has no end but its fuel.
+	mostDeep = 1 << 12
+	// mostSmall is how many parts a term has that is looked at ahead of its turn.
+	mostSmall = 1 << 6
+)
 
 // pair is two terms of which it is asked whether they mean the same.
 type pair struct{ a, b *graph.Node }
@@ -23,29 +27,63 @@ func pairsOf(a, b []*graph.Node) []pair {
 	return list
 }
 
+// wait is a pair that waits for its turn, and how many that are alike have theirs ahead of it. These take a step each,
+// and nothing else: there may be as many as there is fuel.
+type wait struct {
+	pair
+	alike int
+}
+
 // comparison asks of pairs whether they mean the same: that one does just if all do by which it does.
 type comparison struct {
 	likeness
-	book  *graph.Book
-	meter api.Meter
-	err   api.Errno // why a pair could not be asked
+	book    *graph.Book
+	meter   api.Meter
+	err     api.Errno // why a pair could not be asked
+	waiting []wait    // where calls would have been too deep: the next one last
 }
 
 // means tells whether p's terms mean the same.
 func (c *comparison) means(p pair) bool {
-	waiting := []pair{p} // the next one last
-	for len(waiting) > 0 {
-		last := len(waiting) - 1
-		row := []pair{waiting[last]}
-		waiting = waiting[:last]
-		rest, ok := c.row(row, 1)
+	c.leave([]pair{p})
+	for len(c.waiting) > 0 {
+		last := len(c.waiting) - 1
+		w := c.waiting[last]
+		c.waiting = c.waiting[:last]
+		if !c.pay(w.alike) {
+			return false
+		}
+		rest, ok := c.row([]pair{w.pair}, 1)
 		if !ok {
 			return false
 		}
-		slices.Reverse(rest)
-		waiting = append(waiting, rest...)
+		c.leave(rest)
 	}
 	return true
+}
+
+// leave makes pairs wait, ahead of all that wait already.
+func (c *comparison) leave(rest []pair) {
+	for _, p := range slices.Backward(rest) {
+		last := len(c.waiting) - 1
+		if last >= 0 && p.a.Size() <= mostSmall && c.holds(p) {
+			c.waiting[last].alike++
+			continue
+		}
+		c.waiting = append(c.waiting, wait{pair: p})
+	}
+}
+
+// pay takes so many steps, if there are as many.
+func (c *comparison) pay(steps int) bool {
+	if steps == 0 {
+		return true
+	}
+	if steps > c.meter.Fuel {
+		c.err = api.ErrFuel
+	}
+	c.meter = meter.Less(c.meter, steps)
+	return c.err == api.OK
 }
 
 // row asks pair by pair, as long as they mean the same. Where calls would be too deep, rest are the pairs

@@ -3,6 +3,7 @@ package conv_test
 import (
 	"fmt"
 	"math"
+	"runtime"
 	"testing"
 
 	"touchstone/api"
@@ -131,13 +132,10 @@ func TestWide(t *testing.T) {
 // P14.2: what has no end but its fuel, in the first of two pairs, in the last one, and on one side.
 func TestWithoutEnd(t *testing.T) {
 	e := with(def("i", 0, `\a. #0`), def("l", 0, `\a. l`), def("k", 1, `\a. (k{p0} a)`), def("d", 0, `!d. a`), def("e", 0, `!e. a`), def("s", 0, `!a. s`), def("t", 0, `!a. t`),
-		def("d1", 1, `!d1{p0}. a{p0}`), def("e1", 1, `!e1{p0}. a{p0}`), def("x", 0, `(f x)`), def("y", 0, `(f y)`), def("z", 0, `((f z) z)`),
+		def("d1", 1, `!d1{p0}. a{p0}`), def("e1", 1, `!e1{p0}. a{p0}`), def("x", 0, `(f x)`), def("y", 0, `(f y)`),
 		family("Nat", 0, "*S0", "zero", "Nat", "suc", "!Nat. Nat"), rec("Nat.rec", 1, "Nat"))
-	for _, x := range [][2]string{{`d`, `e`}, {`s`, `t`}, {`l`, `f`}, {`l`, `(((Nat.rec{0} C) a) b)`}, {`k{p0}`, `f`}, {`d1{0}`, `e1{0}`}, {`x`, `y`}, {`z`, `(i z)`}, {`l`, `*0`}, {`\a. l`, `#0`}} {
+	for _, x := range [][2]string{{`d`, `e`}, {`s`, `t`}, {`l`, `f`}, {`l`, `(((Nat.rec{0} C) a) b)`}, {`k{p0}`, `f`}, {`d1{0}`, `e1{0}`}, {`x`, `y`}, {`l`, `*0`}, {`\a. l`, `#0`}} {
 		for _, fuel := range []int{1, 2, 3, 1000, 300000} {
-			if x[0] == `z` && fuel > 10 { // (i z) is z behind two steps
-				fuel = 3
-			}
 			for _, y := range [][2]string{x, {x[1], x[0]}} {
 				is, n, err := conv.Conv(e, of(y[0]), of(y[1]), api.Meter{Fuel: fuel, Cells: 50})
 				if is || n != (api.Meter{Cells: 50}) || err != api.ErrFuel {
@@ -233,4 +231,26 @@ func TestGreatLevels(t *testing.T) {
 	a, b := tall(maxOf(param(0), param(1))), tall(maxOf(param(1), param(0)))
 	want(t, "tall Levels", nil, sortOf(a), sortOf(b), great, true, 1)
 	want(t, "tall Levels, one taller", nil, sortOf(a), sortOf(tall(succ(maxOf(param(1), param(0))))), great, false, 1)
+}
+
+// P14.2: what no pair has any more is not kept, however often new terms come that are soon unlike.
+func TestNothingIsKept(t *testing.T) {
+	const rounds, parts = 1800, 20000
+	huge := row(con("q"), v(0), parts/2)
+	value := func(name, identity string) api.Term { // a Lam around !((f (identity a)) ((\a. \a. #1 (identity b)) huge)). (name #1)
+		by := func(x string) api.Term { return app(con(identity), con(x)) }
+		return lam(con("a"), pi(app(con("f"), by("a"), app(of(`\a. \a. #1`), by("b"), huge)), app(con(name), v(1))))
+	}
+	e := with(def("i", 0, `\a. #0`), def("j", 0, `\a. #0`),
+		api.Decl{Kind: api.DeclDef, Name: "d", Value: value("d", "i")}, api.Decl{Kind: api.DeclDef, Name: "e", Value: value("e", "j")})
+	var before, after runtime.MemStats
+	runtime.ReadMemStats(&before)
+	m := api.Meter{Fuel: 20 * rounds, Cells: 4 * parts}
+	if is, n, err := conv.Conv(e, app(con("d"), con("c")), app(con("e"), con("c")), m); is || n.Fuel != 0 || err != api.ErrFuel {
+		t.Errorf("%v, %v, %d, want ErrFuel", is, n, err)
+	}
+	runtime.ReadMemStats(&after)
+	if most := uint64(1 << 31); after.HeapSys > before.HeapSys+most {
+		t.Errorf("%d bytes more, want at most %d", after.HeapSys-before.HeapSys, most)
+	}
 }

@@ -3,7 +3,6 @@ package conv
 import (
 	"touchstone/api"
 	"touchstone/graph"
-	"touchstone/leap"
 	"touchstone/level"
 	"touchstone/term"
 )
@@ -39,9 +38,6 @@ func (k *likeness) sameLevels(a, b graph.Levels) bool {
 	}
 	if a.Len() == 0 {
 		return true
-	}
-	if k.levels.Len() >= mostNotes {
-		k.levels = leap.Runs[places]{}
 	}
 	l := twoLists{a, b}
 	return k.levels.Hold(a.Len(), l.places, l.same)

@@ -10,6 +10,8 @@ const (
 	mostUnnoted = 1 << 12
 	// mostNotes is how many notes are kept. Two terms that are handed in make fewer; steps make new terms without end.
 	mostNotes = 1 << 20
+	// mostHeld is how many parts the terms have that are kept with notes: else nobody might ask for them any more.
+	mostHeld = 1 << 22
 )
 
 // What is noted of a pair.
@@ -23,6 +25,7 @@ type likeness struct {
 	open   []opened // each below the one ahead of it: a list, since terms may be deeper than a stack of calls
 	met    int      // pairs that were gone through
 	notes  map[pair]int
+	held   int               // parts of the terms that are kept with these
 	levels leap.Runs[places] // that are known to be the Same
 }
 
@@ -34,6 +37,7 @@ type opened struct {
 
 // holds tells whether p's terms are alike.
 func (k *likeness) holds(p pair) bool {
+	met := k.met
 	k.open = k.open[:0]
 	ok := k.enters(p)
 	for ok && len(k.open) > 0 {
@@ -42,7 +46,18 @@ func (k *likeness) holds(p pair) bool {
 	for _, o := range k.open {
 		k.note(o.pair, unlike)
 	}
+	if k.met > met {
+		k.held += p.a.Size() + p.b.Size()
+	}
+	k.forget()
 	return ok
+}
+
+// forget makes room, if too much is noted, or kept with that.
+func (k *likeness) forget() {
+	if k.held > mostHeld || k.levels.Len() > mostNotes {
+		k.notes, k.held, k.levels = nil, 0, leap.Runs[places]{}
+	}
 }
 
 // step enters the next pair, or ends the one that was entered last, and tells whether all is alike so far.

@@ -73,6 +73,11 @@ func (n *Node) Levels() Levels {
 	return n.levels
 }
 
+// Size is how many parts n has, itself and all below.
+func (n *Node) Size() int {
+	return n.size
+}
+
 // IsKin tells whether n and o may be alike: all of them is but their Levels, and what stands below, of which it asks
 // only how much that is. What has no end is nothing's kin.
 func (n *Node) IsKin(o *Node) bool {
