@@ -116,15 +116,15 @@ func (c *comparison) ask(p pair) (by []pair, ok bool) {
 	if c.meter, c.err = meter.Step(c.meter); c.err != api.OK {
 		return nil, false
 	}
-	if c.holds(p) {
+	if c.alike(p) {
 		return nil, true
 	}
 	ends := pair{c.end(p.a), c.end(p.b)}
+	if c.err == api.OK && ends != p && c.alike(ends) {
+		return nil, true
+	}
 	if c.err != api.OK {
 		return nil, false
-	}
-	if ends != p && c.holds(ends) {
-		return nil, true
 	}
 	for _, way := range [...]func(pair) []pair{c.binders, c.functions, c.spines} {
 		if by = way(ends); len(by) > 0 {
@@ -132,6 +132,15 @@ func (c *comparison) ask(p pair) (by []pair, ok bool) {
 		}
 	}
 	return nil, false
+}
+
+// alike tells whether p's terms are alike. To be too great to tell is to be greater than may be.
+func (c *comparison) alike(p pair) bool {
+	is := c.holds(p)
+	if c.lost {
+		c.err = api.ErrCells
+	}
+	return is
 }
 
 // end is n behind all steps that its head takes, unless there was an error.

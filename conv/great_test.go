@@ -146,10 +146,14 @@ func TestWithoutEnd(t *testing.T) {
 	}
 }
 
-// doubled: a redex behind so many steps of which end stands, applied, 2^steps times in the term.
-func doubled(steps int, end api.Term) api.Term {
-	x := around(app(con("b"), v(0)), steps, func(t api.Term) api.Term { return app(lam(con("a"), t), app(v(0), v(0))) })
+// doubledIn: behind so many steps what stands in body, with 2^steps times end in the place of its Var 0.
+func doubledIn(body api.Term, steps int, end api.Term) api.Term {
+	x := around(body, steps, func(t api.Term) api.Term { return app(lam(con("a"), t), app(v(0), v(0))) })
 	return app(lam(con("a"), x), end)
+}
+
+func doubled(steps int, end api.Term) api.Term {
+	return doubledIn(app(con("b"), v(0)), steps, end)
 }
 
 // P14.2: terms on the way that have more parts than any memory, as long as they fit.
@@ -162,12 +166,40 @@ func TestDoubled(t *testing.T) {
 		want(t, "two that come to one", e, doubled(steps, con("c")), app(con("i"), doubled(steps, con("c"))), m, true, 1+ends+2)
 		want(t, "two unlike at their ends", e, doubled(steps, q(con("c"))), doubled(steps, q(con("d"))), m, false, 1+ends+2)
 	}
+	for _, steps := range []int{2, 20, 40, 58} {
+		a, b := doubledIn(lam(con("a"), app(con("g"), v(1), v(0))), steps, v(3)), doubledIn(app(con("g"), v(0)), steps, v(3))
+		want(t, "two, one below a Lam", with(), a, b, m, true, 1+2*(steps+1)+1)
+	}
 	a, b := doubled(30, q(con("c"))), doubled(30, q(app(con("i"), con("c"))))
 	if is, n, err := conv.Conv(e, a, b, m); is || n != (api.Meter{Cells: math.MaxInt}) || err != api.ErrFuel {
 		t.Errorf("two that mean the same, with more ends than fuel: %v, %v, %d", is, n, err)
 	}
 	if is, n, err := conv.Conv(e, a, b, api.Meter{Fuel: 1000, Cells: 1000}); is || n.Fuel < 980 || err != api.ErrCells {
 		t.Errorf("two that do not fit: %v, %v, %d", is, n, err)
+	}
+}
+
+// byLams: behind steps, below so many Lams, what stands in end, with 2^lams parts in the place of its Var 0,
+// no two of which are below as many Lams.
+func byLams(lams int, end api.Term) api.Term {
+	x := around(end, lams, func(t api.Term) api.Term {
+		return lam(con("a"), app(lam(con("a"), t), app(con("f"), v(1), lam(con("a"), v(2)))))
+	})
+	return app(lam(con("a"), x), v(7))
+}
+
+// P14.2, R1: what comes of terms on the way may be told to be too great, if it has more parts than may be told.
+func TestByLams(t *testing.T) {
+	e := common()
+	m := api.Meter{Fuel: 1000, Cells: math.MaxInt}
+	for _, lams := range []int{1, 5, 12, 40} {
+		is, n, err := conv.Conv(e, byLams(lams, app(con("g"), v(0))), byLams(lams, app(con("g"), app(con("i"), v(0)))), m)
+		if left := m.Fuel - 8 - 4*lams; err == api.OK && (!is || n.Fuel != left) || err != api.OK && (lams < 40 || is || err != api.ErrCells) {
+			t.Errorf("%d Lams: %v, %v, %d, want %d left", lams, is, n, err, left)
+		}
+		if is, n, err := conv.Conv(e, byLams(lams, app(con("g"), v(0))), byLams(lams, app(con("g"), con("b"))), m); is || n.Cells != m.Cells || err != api.OK {
+			t.Errorf("%d Lams, not alike: %v, %v, %d", lams, is, n, err)
+		}
 	}
 }
 

@@ -10,6 +10,9 @@ const (
 	mostUnnoted = 1 << 12
 	// mostNotes is how many notes are kept. Two terms that are handed in make fewer; steps make new terms without end.
 	mostNotes = 1 << 20
+	// mostPairs is how many pairs are gone through to tell whether two terms are alike. All but terms on the way that
+	// have more parts than may be told have fewer.
+	mostPairs = 1 << 23
 	// mostHeld is how many parts the terms have that are kept with notes: else nobody might ask for them any more.
 	mostHeld = 1 << 22
 )
@@ -27,6 +30,7 @@ type likeness struct {
 	notes  map[pair]int
 	held   int               // parts of the terms that are kept with these
 	levels leap.Runs[places] // that are known to be the Same
+	lost   bool              // there were too many pairs to tell
 }
 
 // opened is a pair of which all is alike so far, up to the next one of its Args.
@@ -42,8 +46,11 @@ func (k *likeness) holds(p pair) bool {
 	ok := k.enters(p)
 	for ok && len(k.open) > 0 {
 		ok = k.step()
+		if k.met-met > mostPairs {
+			k.lost, ok = true, false
+		}
 	}
-	for _, o := range k.open {
+	for _, o := range k.open { // nobody is asked any more once it is lost
 		k.note(o.pair, unlike)
 	}
 	if k.met > met {

@@ -97,7 +97,7 @@ func (c caseOf) hypotheses(fields []*Node) (list []*Node) {
 		if !f.isRecursive(typ) {
 			continue
 		}
-		h := hypothesis{fixed, put{given[:f.params+i]}, fields[i]}
+		h := hypothesis{fixed, putOf(given[:f.params+i]...), fields[i]}
 		list = append(list, h.of(levels.of(typ), f.params))
 	}
 	return list
@@ -107,7 +107,7 @@ func (c caseOf) hypotheses(fields []*Node) (list []*Node) {
 // the variables of the field's type, and the field.
 type hypothesis struct {
 	fixed *Node
-	put   put
+	put   *put
 	field *Node
 }
 

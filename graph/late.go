@@ -10,8 +10,14 @@ import (
 // It has all lifts of a term in one, however many: else each part that is asked for would go through all of them.
 type lift struct {
 	of    *Node
-	under int    // binders that lie between the term and where its variables are counted
+	under int // binders that lie between the term and where its variables are counted
+	*raise
+}
+
+// raise is what becomes of variables.
+type raise struct {
 	rises []rise // rising, in from and in by
+	sharing
 }
 
 // rise says that variables from one on are greater by by, up to where the next rise begins.
@@ -23,7 +29,7 @@ func lifted(n *Node, by, from int) *Node {
 	if by == 0 || n.free <= from {
 		return n
 	}
-	l := lift{of: n}
+	l := lift{of: n, raise: new(raise)}
 	if n.late != nil {
 		l = *n.late
 	}
@@ -90,7 +96,7 @@ func (l lift) more(by int, c cut) lift {
 	for _, r := range l.rises[c.ahead:] {
 		rises = append(rises, rise{r.from, r.by + by})
 	}
-	l.rises = rises
+	l.raise = &raise{rises: rises}
 	return l
 }
 
@@ -106,13 +112,18 @@ func (l *lift) without(from, count int) *Node {
 
 // below is n, which stands below l's term and so many of its binders, as it stands below what l says.
 func (l *lift) below(n *Node, binders int) *Node {
-	under := l.under + binders
-	if n.late == nil {
-		return lift{n, under, l.rises}.node()
+	return l.one(spot{n, l.under + binders}, l.at)
+}
+
+// at is the part at s, as it stands below what l says.
+func (l *lift) at(s spot) *Node {
+	if s.of.late == nil {
+		return lift{s.of, s.binders, l.raise}.node()
 	}
 	// The last one comes first: it begins elsewhere once there are those ahead of it.
+	n := s.of
 	for i := len(l.rises) - 1; i >= 0; i-- {
-		n = lifted(n, l.rises[i].by-l.by(i), l.rises[i].from+under)
+		n = lifted(n, l.rises[i].by-l.by(i), l.rises[i].from+s.binders)
 	}
 	return n
 }

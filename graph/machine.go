@@ -126,7 +126,7 @@ func (x *machine) lam(s *spine) func() {
 func (s *spine) enterLam() {
 	value := s.at(0)
 	s.drop(1)
-	s.enter(put{[]*Node{value}}.below(s.head.args[1], 0))
+	s.enter(putOf(value).below(s.head.args[1], 0))
 }
 
 // let is what a step does to s, if that is a Let.
@@ -138,7 +138,7 @@ func (x *machine) let(s *spine) func() {
 }
 
 func (s *spine) enterLet() {
-	s.enter(put{s.head.args[1:2]}.below(s.head.args[2], 0))
+	s.enter(putOf(s.head.args[1]).below(s.head.args[2], 0))
 }
 
 // definition is what a step does to s, if that is a definition.

@@ -85,7 +85,7 @@ func TestNodesLikeTerms(t *testing.T) {
 					values = append(values, term.Lift(v, by, 0))
 					nodes = append(nodes, lifted(Read(&v), by, 0))
 				}
-				n, x = put{nodes}.below(n, binders), putBelow(x, values, binders)
+				n, x = putOf(nodes...).below(n, binders), putBelow(x, values, binders)
 			default:
 				by, from := r.Intn(4), r.Intn(9)
 				n, x = lifted(n, by, from), term.Lift(x, by, from)

@@ -9,6 +9,9 @@ type job struct {
 	to      **Node
 }
 
+// mostTurned is how many parts are turned at once. What a step makes of more has more parts than may be told.
+const mostTurned = 1 << 23
+
 // turned is t, below so many binders, with each part as part says; where that is nil, the part stays, and those below
 // it are turned. They stand in a list, since terms may be deeper than a stack of calls.
 func turned(t *Node, binders int, part func(n *Node, binders int) *Node) (out *Node) {
@@ -28,6 +31,9 @@ func turned(t *Node, binders int, part func(n *Node, binders int) *Node) (out *N
 		}
 		*j.to = n
 		made = append(made, n)
+		if len(made) > mostTurned {
+			return endless()
+		}
 	}
 	settleAll(made)
 	return out
@@ -40,14 +46,21 @@ func (n *Node) bare() *Node {
 }
 
 // put has values for the least free variables, the last one for 0, and makes greater ones less by as many.
-type put struct{ values []*Node }
+type put struct {
+	values []*Node
+	sharing
+}
+
+func putOf(values ...*Node) *put {
+	return &put{values: values}
+}
 
 // below is t with the values put in, where so many binders lie around it that are not put in.
-func (p put) below(t *Node, binders int) *Node {
+func (p *put) below(t *Node, binders int) *Node {
 	return turned(t, binders, p.part)
 }
 
-func (p put) part(n *Node, binders int) *Node {
+func (p *put) part(n *Node, binders int) *Node {
 	count := len(p.values)
 	if n.free <= binders {
 		return n
@@ -65,7 +78,12 @@ func (p put) part(n *Node, binders int) *Node {
 	if number >= count {
 		return variable(n.number - count)
 	}
-	return lifted(p.values[count-1-number], binders, 0)
+	return p.one(spot{p.values[count-1-number], binders}, p.value)
+}
+
+// value is a value, where so many binders lie around it that are not put in.
+func (p *put) value(s spot) *Node {
+	return lifted(s.of, s.binders, 0)
 }
 
 // relevel puts Levels in the place of the parameters of others.
