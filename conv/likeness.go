@@ -1,8 +1,6 @@
 package conv
 
-import (
-	"touchstone/leap"
-)
+import "touchstone/leap"
 
 const (
 	// mostUnnoted is how many pairs are gone through without a note of what was found: notes cost time and room,
@@ -10,8 +8,8 @@ const (
 	mostUnnoted = 1 << 12
 	// mostNotes is how many notes are kept. Two terms that are handed in make fewer; steps make new terms without end.
 	mostNotes = 1 << 20
-	// mostPairs is how many pairs are gone through to tell whether two terms are alike. All but terms on the way that
-	// have more parts than may be told have fewer.
+	// mostPairs is how many pairs are gone through to tell whether two terms are alike: far more than terms have
+	// that are handed in, or fit where there are MaxCells.
 	mostPairs = 1 << 23
 	// mostHeld is how many parts the terms have that are kept with notes: else nobody might ask for them any more.
 	mostHeld = 1 << 22
@@ -30,7 +28,7 @@ type likeness struct {
 	notes  map[pair]int
 	held   int               // parts of the terms that are kept with these
 	levels leap.Runs[places] // that are known to be the Same
-	lost   bool              // there were too many pairs to tell
+	lost   bool              // there were too many pairs to tell: nothing is to be asked any more
 }
 
 // opened is a pair of which all is alike so far, up to the next one of its Args.
@@ -50,7 +48,7 @@ func (k *likeness) holds(p pair) bool {
 			k.lost, ok = true, false
 		}
 	}
-	for _, o := range k.open { // nobody is asked any more once it is lost
+	for _, o := range k.open {
 		k.note(o.pair, unlike)
 	}
 	if k.met > met {

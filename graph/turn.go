@@ -9,11 +9,9 @@ type job struct {
 	to      **Node
 }
 
-// mostTurned is how many parts are turned at once. What a step makes of more has more parts than may be told.
-const mostTurned = 1 << 23
-
 // turned is t, below so many binders, with each part as part says; where that is nil, the part stays, and those below
-// it are turned. They stand in a list, since terms may be deeper than a stack of calls.
+// it are turned. They stand in a list, since terms may be deeper than a stack of calls. More of them than may be told
+// are as good as endless: t may share parts far more often than can be gone through.
 func turned(t *Node, binders int, part func(n *Node, binders int) *Node) (out *Node) {
 	jobs := []job{{t, binders, &out}}
 	var made []*Node
@@ -31,7 +29,7 @@ func turned(t *Node, binders int, part func(n *Node, binders int) *Node) (out *N
 		}
 		*j.to = n
 		made = append(made, n)
-		if len(made) > mostTurned {
+		if len(made) > mostTold {
 			return endless()
 		}
 	}
