@@ -11,6 +11,7 @@ type machine struct {
 	book  *Book
 	meter api.Meter
 	tasks []*task // the term, then the major of each one ahead that is a recursor's
+	loop  loop
 }
 
 // task is a term of which steps are taken.
@@ -48,6 +49,10 @@ steps:
 			}
 		}
 		if f := x.book.recursor(s); f != nil {
+			if x.loop.closes(x.tasks) { // and takes all steps that there are
+				x.meter.Fuel = 0
+				return api.ErrFuel
+			}
 			known, err := x.openMajor(s.at(f.major()))
 			if err != api.OK {
 				return err

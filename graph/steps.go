@@ -47,7 +47,7 @@ func (b *Book) Iota(t, major *Node) (u *Node, did bool) {
 	return s.term(), true
 }
 
-// end notes that n takes no step, applied to variables either, and how many its majors take each time it is asked for one.
+// end notes that n takes no step, applied to variables either, and how many its majors take each time one is asked for.
 func (n *Node) end(tries int) {
 	if !n.Is(api.TermLam) {
 		n.ended, n.tries = true, tries

@@ -194,13 +194,48 @@ func TestManyMajors(t *testing.T) {
 	}
 }
 
-// P13.2: majors that come one in the other without end, as long as there is fuel.
+// P13.2: majors that come one in the other without end, as long as there is fuel, however much that is.
 func TestMajorsWithoutEnd(t *testing.T) {
-	const fuel = 1000000
-	for _, s := range []string{`sink`, `(\a. ((Empty.rec{0} C) (#0 #0)) \a. ((Empty.rec{0} C) (#0 #0)))`} {
-		if u, n, err := whnf.Whnf(common(), of(s), api.Meter{Fuel: fuel, Cells: 50}); !term.Equal(u, api.Term{}) || n != (api.Meter{Cells: 50}) || err != api.ErrFuel {
-			t.Errorf("Whnf of %s: %s, %v, %d, want ErrFuel", s, show(u), n, err)
+	l := []api.Decl{
+		family("Empty", 0, "*0"), rec("Empty.rec", 1, "Empty"), family("Nat", 0, "*S0", "zero", "Nat", "suc", "!Nat. Nat"), rec("Nat.rec", 1, "Nat"),
+		def("sink", 0, "((Empty.rec{0} C) sink)"), def("of", 1, "((Empty.rec{Mp0p0} C{p0}) of{p0})"), def("far", 0, `\a. ((Empty.rec{0} C) (far #0))`),
+		def("by", 0, `((((Nat.rec{0} C) a) \a. by) (\a. #0 by))`), def("last", 0, "((Empty.rec{0} D) r0)"),
+	}
+	for i := range 100 { // round by r100, r101, .. r199 behind r0 to r99
+		l = append(l, def(fmt.Sprint("r", i), 0, fmt.Sprintf("((Empty.rec{0} C) r%d)", i+1)), def(fmt.Sprint("r", 100+i), 0, fmt.Sprintf("((Empty.rec{0} C) r%d)", 100+(i+1)%100)))
+	}
+	e := with(l...)
+	for _, s := range []string{`sink`, `of{p1}`, `(far a)`, `((((Nat.rec{0} C) a) b) sink)`, `by`, `r0`, `last`, `(((Empty.rec{0} C) (sink a)) sink)`, `(\a. ((Empty.rec{0} C) (#0 #0)) \a. ((Empty.rec{0} C) (#0 #0)))`} {
+		for _, fuel := range []int{1, 2, 3, 4, 5, 7, 100, 1000, 1000000, api.MaxFuel, math.MaxInt} {
+			want := api.Meter{Cells: 50}
+			if u, n, err := whnf.Whnf(e, of(s), api.Meter{Fuel: fuel, Cells: 50}); !term.Equal(u, api.Term{}) || n != want || err != api.ErrFuel {
+				t.Errorf("Whnf of %s with fuel %d: %s, %v, %d, want ErrFuel", s, fuel, show(u), n, err)
+			}
 		}
+	}
+}
+
+// P13.2: majors in majors that are much alike, but come to an end.
+func TestMajorsMuchAlike(t *testing.T) {
+	const count = 300
+	l := []api.Decl{
+		family("Nat", 0, "*S0", "zero", "Nat", "suc", "!Nat. Nat"), rec("Nat.rec", 1, "Nat"), def(fmt.Sprint("x", count), 0, "(suc zero)"),
+		def("down", 0, `\Nat. ((((Nat.rec{0} C) zero) \Nat. \Nat. ((((Nat.rec{0} C) zero) \Nat. \Nat. (suc zero)) (down #1))) #0)`),
+	}
+	for i := range count {
+		l = append(l, def(fmt.Sprint("x", i), 0, fmt.Sprintf(`((((Nat.rec{0} C) zero) \a. \a. (suc #1)) x%d)`, i+1)))
+	}
+	e := with(l...)
+	m := api.Meter{Fuel: 100000, Cells: 10000}
+	if u, n, err := whnf.Whnf(e, con("x0"), m); !term.Equal(u, of("(suc zero)")) || n.Fuel != m.Fuel-1-4*count || err != api.OK {
+		t.Errorf("%d definitions: %s, %v, %d", count, show(u), n, err)
+	}
+	number := con("zero")
+	for range count {
+		number = app(con("suc"), number)
+	}
+	if u, n, err := whnf.Whnf(e, app(con("down"), number), m); !term.Equal(u, con("zero")) || n.Fuel != m.Fuel-3-6*count || err != api.OK {
+		t.Errorf("down from %d: %s, %v, %d", count, show(u), n, err)
 	}
 }
 
