@@ -15,14 +15,11 @@ const (
 	mostSmall = 1 << 6
 )
 
-// pair is two terms of which it is asked whether they mean the same.
-type pair struct{ a, b *graph.Node }
-
 // pairsOf are those of the terms of two lists, in order.
-func pairsOf(a, b []*graph.Node) []pair {
-	list := make([]pair, len(a))
+func pairsOf(a, b []*graph.Node) []graph.Pair {
+	list := make([]graph.Pair, len(a))
 	for i := range list {
-		list[i] = pair{a[i], b[i]}
+		list[i] = graph.Pair{A: a[i], B: b[i]}
 	}
 	return list
 }
@@ -30,13 +27,12 @@ func pairsOf(a, b []*graph.Node) []pair {
 // wait is a pair that waits for its turn, and how many that are alike have theirs ahead of it. These take a step each,
 // and nothing else: there may be as many as there is fuel.
 type wait struct {
-	pair
+	graph.Pair
 	alike int
 }
 
 // comparison asks of pairs whether they mean the same: that one does just if all do by which it does.
 type comparison struct {
-	likeness
 	book    *graph.Book
 	meter   api.Meter
 	err     api.Errno // why a pair could not be asked
@@ -44,8 +40,8 @@ type comparison struct {
 }
 
 // means tells whether p's terms mean the same.
-func (c *comparison) means(p pair) bool {
-	c.leave([]pair{p})
+func (c *comparison) means(p graph.Pair) bool {
+	c.leave([]graph.Pair{p})
 	for len(c.waiting) > 0 {
 		last := len(c.waiting) - 1
 		w := c.waiting[last]
@@ -53,7 +49,7 @@ func (c *comparison) means(p pair) bool {
 		if !c.pay(w.alike) {
 			return false
 		}
-		rest, ok := c.row([]pair{w.pair}, 1)
+		rest, ok := c.row([]graph.Pair{w.Pair}, 1)
 		if !ok {
 			return false
 		}
@@ -63,14 +59,14 @@ func (c *comparison) means(p pair) bool {
 }
 
 // leave makes pairs wait, ahead of all that wait already.
-func (c *comparison) leave(rest []pair) {
+func (c *comparison) leave(rest []graph.Pair) {
 	for _, p := range slices.Backward(rest) {
 		last := len(c.waiting) - 1
-		if last >= 0 && p.a.Size() <= mostSmall && c.holds(p) {
+		if last >= 0 && p.A.Size() <= mostSmall && c.book.AreAlike(p) {
 			c.waiting[last].alike++
 			continue
 		}
-		c.waiting = append(c.waiting, wait{pair: p})
+		c.waiting = append(c.waiting, wait{Pair: p})
 	}
 }
 
@@ -88,10 +84,10 @@ func (c *comparison) pay(steps int) bool {
 
 // row asks pair by pair, as long as they mean the same. Where calls would be too deep, rest are the pairs
 // that are still to be asked, in order.
-func (c *comparison) row(row []pair, deep int) (rest []pair, ok bool) {
+func (c *comparison) row(row []graph.Pair, deep int) (rest []graph.Pair, ok bool) {
 	for len(row) > 0 && len(rest) == 0 {
 		p := row[0]
-		row[0] = pair{} // what was asked is not kept
+		row[0] = graph.Pair{} // what was asked is not kept
 		row = row[1:]
 		by, is := c.ask(p)
 		if !is {
@@ -112,35 +108,26 @@ func (c *comparison) row(row []pair, deep int) (rest []pair, ok bool) {
 }
 
 // ask takes p's own step, and tells by which pairs p's terms mean the same: by none, if they do. Not ok: they don't.
-func (c *comparison) ask(p pair) (by []pair, ok bool) {
+func (c *comparison) ask(p graph.Pair) (by []graph.Pair, ok bool) {
 	if c.meter, c.err = meter.Step(c.meter); c.err != api.OK {
 		return nil, false
 	}
-	if c.alike(p) {
+	if c.book.AreAlike(p) {
 		return nil, true
 	}
-	ends := pair{c.end(p.a), c.end(p.b)}
-	if c.err == api.OK && ends != p && c.alike(ends) {
-		return nil, true
-	}
+	ends := graph.Pair{A: c.end(p.A), B: c.end(p.B)}
 	if c.err != api.OK {
 		return nil, false
 	}
-	for _, way := range [...]func(pair) []pair{c.binders, c.functions, c.spines} {
+	if ends != p && c.book.AreAlike(ends) {
+		return nil, true
+	}
+	for _, way := range [...]func(graph.Pair) []graph.Pair{c.binders, c.functions, c.spines} {
 		if by = way(ends); len(by) > 0 {
 			return by, true
 		}
 	}
 	return nil, false
-}
-
-// alike tells whether p's terms are alike. To be too great to tell is to be greater than may be.
-func (c *comparison) alike(p pair) bool {
-	is := c.holds(p)
-	if c.lost {
-		c.err = api.ErrCells
-	}
-	return is
 }
 
 // end is n behind all steps that its head takes, unless there was an error.
@@ -152,32 +139,32 @@ func (c *comparison) end(n *graph.Node) *graph.Node {
 }
 
 // binders are the pairs by which two Pis, or two Lams, mean the same.
-func (c *comparison) binders(p pair) []pair {
+func (c *comparison) binders(p graph.Pair) []graph.Pair {
 	for _, kind := range [...]int{api.TermPi, api.TermLam} {
-		if p.a.Is(kind) && p.b.Is(kind) {
-			return pairsOf(p.a.Args(), p.b.Args())
+		if p.A.Is(kind) && p.B.Is(kind) {
+			return pairsOf(p.A.Args(), p.B.Args())
 		}
 	}
 	return nil
 }
 
 // functions is the pair by which a Lam, and what is none, mean the same.
-func (c *comparison) functions(p pair) []pair {
-	a, b := p.a.Is(api.TermLam), p.b.Is(api.TermLam)
+func (c *comparison) functions(p graph.Pair) []graph.Pair {
+	a, b := p.A.Is(api.TermLam), p.B.Is(api.TermLam)
 	switch {
 	case a && !b:
-		return []pair{{p.a.Args()[1], p.b.Fed()}}
+		return []graph.Pair{{A: p.A.Args()[1], B: c.book.Fed(p.B)}}
 	case b && !a:
-		return []pair{{p.a.Fed(), p.b.Args()[1]}}
+		return []graph.Pair{{A: c.book.Fed(p.A), B: p.B.Args()[1]}}
 	}
 	return nil
 }
 
 // spines are the pairs by which a Var, or a Const, means the same, applied to one list and to another.
-func (c *comparison) spines(p pair) []pair {
-	a, argsA := p.a.Spine()
-	b, argsB := p.b.Spine()
-	if !a.Is(api.TermVar) && !a.Is(api.TermConst) || len(argsA) != len(argsB) || !c.holds(pair{a, b}) {
+func (c *comparison) spines(p graph.Pair) []graph.Pair {
+	a, argsA := p.A.Spine()
+	b, argsB := p.B.Spine()
+	if !a.Is(api.TermVar) && !a.Is(api.TermConst) || len(argsA) != len(argsB) || !c.book.AreAlike(graph.Pair{A: a, B: b}) {
 		return nil
 	}
 	return pairsOf(argsA, argsB)

@@ -26,7 +26,7 @@ func TestFewWait(t *testing.T) {
 	}
 	a, b := of("d{p1}"), of("e{p1}")
 	c := comparison{book: graph.NewBook(e), meter: api.Meter{Fuel: 200000, Cells: 50}}
-	if c.means(pair{graph.Read(&a), graph.Read(&b)}) || c.err != api.ErrFuel || c.meter.Fuel != 0 {
+	if c.means(graph.Pair{A: graph.Read(&a), B: graph.Read(&b)}) || c.err != api.ErrFuel || c.meter.Fuel != 0 {
 		t.Errorf("%v, %d, want ErrFuel", c.meter, c.err)
 	}
 	if len(c.waiting) > 2 {

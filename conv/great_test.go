@@ -188,17 +188,89 @@ func byLams(lams int, end api.Term) api.Term {
 	return app(lam(con("a"), x), v(7))
 }
 
-// P14.2, R1: what comes of terms on the way may be told to be too great, if it has more parts than may be told.
+// P14.2: terms on the way that share their parts below more and more binders, with more parts than any memory.
 func TestByLams(t *testing.T) {
 	e := common()
 	m := api.Meter{Fuel: 1000, Cells: math.MaxInt}
-	for _, lams := range []int{1, 5, 12, 40} {
-		is, n, err := conv.Conv(e, byLams(lams, app(con("g"), v(0))), byLams(lams, app(con("g"), app(con("i"), v(0)))), m)
-		if left := m.Fuel - 8 - 4*lams; err == api.OK && (!is || n.Fuel != left) || err != api.OK && (lams < 40 || is || err != api.ErrCells) {
-			t.Errorf("%d Lams: %v, %v, %d, want %d left", lams, is, n, err, left)
+	for _, lams := range []int{1, 5, 12, 40, 50} {
+		a := byLams(lams, app(con("g"), v(0)))
+		want(t, fmt.Sprint(lams, " Lams"), e, a, byLams(lams, app(con("g"), app(con("i"), v(0)))), m, true, 8+4*lams)
+		want(t, fmt.Sprint(lams, " Lams, not alike"), e, a, byLams(lams, app(con("g"), con("b"))), m, false, 6+4*lams)
+		below := func(t api.Term) api.Term { return lam(con("a"), app(con("q"), t, lam(con("a"), v(0)))) }
+		want(t, fmt.Sprint(lams, " Lams, in functions"), e, byLams(lams, app(con("g"), below(v(1)))), byLams(lams, app(con("g"), app(lam(con("a"), below(v(1))), v(0)))), m, true, 7+4*lams)
+	}
+}
+
+// lets: rows of so many Lets, each of which comes to a tree of Apps with 2^deep of its end, and a tree of what they come to.
+// The ends are counted outside of all Lets.
+func lets(rows, deep int, end func(row int) api.Term, apply func(rows []api.Term) api.Term) api.Term {
+	var all []api.Term
+	for i := range rows {
+		all = append(all, v((rows-1-i)*(deep+1)))
+	}
+	t := apply(all)
+	for i := rows - 1; i >= 0; i-- {
+		for range deep {
+			t = let(con("a"), app(v(0), v(0)), t)
 		}
-		if is, n, err := conv.Conv(e, byLams(lams, app(con("g"), v(0))), byLams(lams, app(con("g"), con("b"))), m); is || n.Cells != m.Cells || err != api.OK {
-			t.Errorf("%d Lams, not alike: %v, %v, %d", lams, is, n, err)
+		t = let(con("a"), term.Lift(end(i), i*(deep+1), 0), t)
+	}
+	return t
+}
+
+// flat: a tree of Apps, written out, with 2^deep of end.
+func flat(deep int, end api.Term) api.Term {
+	for range deep {
+		end = app(end, end)
+	}
+	return end
+}
+
+// P14.2: terms on the way share their parts often, on one side otherwise than on the other.
+func TestSharedOtherwise(t *testing.T) {
+	const deep = 16
+	m := api.Meter{Fuel: 100000, Cells: 1 << 30}
+	apply := func(rows []api.Term) api.Term { return app(con("f"), rows...) }
+	for _, rows := range []int{1, 8, 100} {
+		same := func(int) api.Term { return con("c") }
+		a := lets(rows, deep, same, apply)
+		b := let(con("a"), flat(deep, con("c")), row(con("f"), v(0), rows))
+		steps := rows*(deep+1) + 1
+		want(t, fmt.Sprint(rows, " rows, one tree"), nil, a, b, m, true, 1+steps)
+		want(t, fmt.Sprint(rows, " rows, and as many"), nil, a, app(lam(con("a"), term.Lift(a, 1, 0)), con("b")), m, true, 1+steps+rows*(deep+1))
+		other := func(row int) api.Term { return con(map[bool]string{true: "c", false: "d"}[row < rows-1]) }
+		want(t, fmt.Sprint(rows, " rows, the last one another"), nil, lets(rows, deep, other, apply), b, m, false, 1+steps+rows)
+		open := func(int) api.Term { return v(3) }
+		want(t, fmt.Sprint(rows, " rows, of a variable"), nil, lets(rows, deep, open, apply), let(con("a"), flat(deep, v(3)), row(con("f"), v(0), rows)), m, true, 1+steps)
+	}
+}
+
+// P14.2: the same below binders, as many around each row as there are rows ahead of it.
+func TestSharedBelowBinders(t *testing.T) {
+	const deep = 16
+	m := api.Meter{Fuel: 100000, Cells: 1 << 30}
+	ladder := func(rows []api.Term) api.Term { // f row0 \a. (f row1 \a. (f row2 ..)), each lifted
+		t := con("b")
+		for i := len(rows) - 1; i >= 0; i-- {
+			t = lam(con("a"), app(con("f"), term.Lift(rows[i], i+1, 0), t))
+		}
+		return t
+	}
+	for _, rows := range []int{1, 8, 60} {
+		steps := rows*(deep+1) + 1
+		var one []api.Term
+		for range rows {
+			one = append(one, v(0))
+		}
+		a := lets(rows, deep, func(int) api.Term { return v(3) }, ladder)
+		want(t, fmt.Sprint(rows, " rows"), nil, a, let(con("a"), flat(deep, v(3)), ladder(one)), m, true, 1+steps)
+		// What is lifted on one side only is not alike in its parts as they lie there.
+		b := let(con("a"), flat(deep, v(3)), ladder(one))
+		want(t, fmt.Sprint(rows, " rows below a Lam"), nil, a, app(lam(con("a"), term.Lift(b, 1, 0)), con("c")), m, true, 1+steps+1)
+		a = lets(rows, deep, func(i int) api.Term { return v(i) }, ladder)
+		want(t, fmt.Sprint(rows, " rows of variables"), nil, a, a, m, true, 1)
+		if rows > 1 {
+			want(t, fmt.Sprint(rows, " rows of variables, not alike"), nil, a, let(con("a"), flat(deep, v(0)), ladder(one)), m, false, 1+steps+7)
 		}
 	}
 }

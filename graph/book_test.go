@@ -49,9 +49,9 @@ func TestBookKnows(t *testing.T) {
 			b, n := NewBook(e), Read(&x)
 			m := api.Meter{Fuel: 13, Cells: 100}
 			b.Whnf(n, m) // what it finds it knows from now on
-			ways := map[string]*Node{"again": n, "fed": n.Fed(), "fed twice": n.Fed().Fed(), "lifted": lifted(n, 3, 0), "lifted and fed": lifted(n, 1, 1).Fed(), "as a major": Read(&x)}
+			ways := map[string]*Node{"again": n, "fed": b.Fed(n), "fed twice": b.Fed(b.Fed(n)), "lifted": b.lifts.lifted(n, 3, 0), "lifted and fed": b.Fed(b.lifts.lifted(n, 1, 1)), "as a major": Read(&x)}
 			major := of(t, r)
-			ways["as a major"] = branch(api.TermApp, Read(&major), n)
+			ways["as a major"] = Branch(api.TermApp, Read(&major), n)
 			for what, n := range ways {
 				want, ok := n.Told()
 				if !ok {

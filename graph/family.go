@@ -11,6 +11,7 @@ type family struct {
 	name            string
 	params, indices int
 	ctors           []*ctor
+	lifts           *lifts
 }
 
 // ctor is a constructor of a family.
@@ -43,12 +44,12 @@ func (f *family) fieldsOf(c *ctor) []*Node {
 // isRecursive tells whether a field of that type is recursive.
 func (f *family) isRecursive(field *Node) bool {
 	for field.Is(api.TermPi) {
-		field = field.args[1]
+		field = field.Args()[1]
 	}
 	for field.Is(api.TermApp) {
 		field = field.Args()[0]
 	}
-	return field.Is(api.TermConst) && field.name == f.name
+	return field.Is(api.TermConst) && field.name() == f.name
 }
 
 // change is what brings t, whose head is a recursor of f, on by its major; nil, if that is no constructor's term.
@@ -65,7 +66,7 @@ func (f *family) change(t, major *spine) func() {
 
 // isOf tells whether s's head has c's name.
 func (s *spine) isOf(c *ctor) bool {
-	return s.head.name == c.name
+	return s.head.name() == c.name
 }
 
 // caseOf is a term whose head is a recursor, with a major that is a term of the constructor at that place.
@@ -92,13 +93,13 @@ func (c caseOf) hypotheses(fields []*Node) (list []*Node) {
 	f, t := c.family, c.t
 	given := append(t.between(0, f.params), fields...)
 	fixed := t.first(f.fixed())
-	levels := relevelBy(t.head.levels.all())
+	levels := relevelBy(t.head.levels().all())
 	for i, typ := range f.ctors[c.place].fields {
 		if !f.isRecursive(typ) {
 			continue
 		}
-		h := hypothesis{fixed, putOf(given[:f.params+i]...), fields[i]}
-		list = append(list, h.of(levels.of(typ), f.params))
+		h := hypothesis{fixed, f.lifts.put(given[:f.params+i]...), fields[i]}
+		list = append(list, h.of(levels.with(typ), f.params))
 	}
 	return list
 }
@@ -116,16 +117,16 @@ func (h hypothesis) of(t *Node, params int) *Node {
 	types := pisOf(t)
 	binders := len(types)
 	for range types {
-		t = t.args[1]
+		t = t.Args()[1]
 	}
 	end := spineOf(t)
-	out := lifted(h.fixed, binders, 0)
+	out := h.put.lifts.lifted(h.fixed, binders, 0)
 	for _, index := range end.between(params, len(end.args)) {
-		out = branch(api.TermApp, out, h.put.below(index, binders))
+		out = Branch(api.TermApp, out, h.put.below(index, binders))
 	}
-	out = branch(api.TermApp, out, applied(lifted(h.field, binders, 0), variables(binders)))
+	out = Branch(api.TermApp, out, h.put.lifts.lifted(h.field, binders, 0).Applied(variables(binders)))
 	for i, typ := range slices.Backward(types) {
-		out = branch(api.TermLam, h.put.below(typ, i), out)
+		out = Branch(api.TermLam, h.put.below(typ, i), out)
 	}
 	return out
 }

@@ -1,194 +1,194 @@
 package graph
 
 import (
-	"sort"
+	"slices"
 
 	"touchstone/api"
 )
 
-// lift is a term with its free variables greater than they were: the greater they are, the more.
-// It has all lifts of a term in one, however many: else each part that is asked for would go through all of them.
+// lift is a term with other numbers for its free variables. It has all lifts of a term in one, however many:
+// else each part that is asked for would go through all of them.
 type lift struct {
-	of    *Node
-	under int // binders that lie between the term and where its variables are counted
+	of    *Node // no lift itself
+	under int   // binders that lie between the term and where its variables are counted
 	*raise
 }
 
 // raise is what becomes of variables.
 type raise struct {
-	rises []rise // rising, in from and in by
-	sharing
+	rises rises
+	lifts *lifts
 }
 
-// rise says that variables from one on are greater by by, up to where the next rise begins.
-type rise struct{ from, by int }
+// lifts makes lifts, and knows those of great terms: one term may be lifted the same way in many places,
+// and what stands in it is to be made once.
+type lifts struct {
+	raises map[step]*raise
+	made   map[liftKey]*Node
+	count  int // nodes that were made since it was emptied
+}
+
+// step is a raise made of another one, or of none, by one rise more.
+type step struct {
+	ahead *raise
+	last  rise
+}
+
+// liftKey is a term and what becomes of its variables.
+type liftKey struct {
+	of *Node
+	by *raise
+}
+
+// mostKept is how many nodes are made while those that are known are kept: nobody may ask for them any more.
+const mostKept = 1 << 22
+
+// forget empties h now and then. Not in the midst of one step: what it makes shares parts by what is known here.
+func (h *lifts) forget() {
+	if h.count > mostKept {
+		*h = lifts{}
+	}
+}
 
 // lifted is n with its free variables from the number from on greater by by. Its parts are lifted once they are asked
 // for: most never are, and one term may be put in many places.
-func lifted(n *Node, by, from int) *Node {
+func (h *lifts) lifted(n *Node, by, from int) *Node {
 	if by == 0 || n.free <= from {
 		return n
 	}
-	l := lift{of: n, raise: new(raise)}
+	return h.turned(n, rises{{from, by}}, 0)
+}
+
+// turned is n, below so many binders, with its free variables turned by r.
+func (h *lifts) turned(n *Node, r rises, binders int) *Node {
+	if !r.turns(n, binders) {
+		return n
+	}
+	r = r.below(binders)
 	if n.late != nil {
-		l = *n.late
+		r = n.late.rises.below(n.late.under).then(r)
+		n = n.late.of
 	}
-	return l.more(by, l.cut(from)).node()
+	r = r.of(n)
+	switch {
+	case len(r) == 0:
+		return n
+	case n.Is(api.TermVar):
+		return variable(r.number(n.number, 0))
+	case n.size > mostApart:
+		return h.one(n, r)
+	}
+	return h.late(lift{of: n, raise: &raise{r, h}})
 }
 
-// node is the term that l says.
-func (l lift) node() *Node {
-	free := l.number(l.of.free-1) + 1
-	if free == l.of.free { // if the greatest one stays, all do
-		return l.of
+// one is the great term n with its free variables turned by r: one node as long as that is known, if n is shared.
+func (h *lifts) one(n *Node, r rises) *Node {
+	n.hold()
+	if !n.shared {
+		return h.late(lift{of: n, raise: &raise{r, h}})
 	}
+	key := liftKey{n, h.raise(r)}
+	if out, known := h.made[key]; known {
+		out.shared = true
+		return out
+	}
+	out := h.late(lift{of: n, raise: key.by})
+	h.made[key] = out
+	return out
+}
+
+// raise is the one with these rises, as long as it is known.
+func (h *lifts) raise(r rises) (out *raise) {
+	if h.made == nil {
+		h.raises, h.made = map[step]*raise{}, map[liftKey]*Node{}
+	}
+	for i := range r {
+		s := step{out, r[i]}
+		next, known := h.raises[s]
+		if !known {
+			next = &raise{slices.Clip(r[:i+1]), h}
+			h.raises[s] = next
+		}
+		out = next
+	}
+	return out
+}
+
+// late is the node of l.
+func (h *lifts) late(l lift) *Node {
+	h.count++
+	of := l.of
 	return &Node{
+		kind:    of.kind,
+		number:  of.number,
+		label:   of.label,
+		hidden:  of.count() > 0,
 		late:    &l,
-		size:    l.of.size,
-		free:    free,
-		leveled: l.of.leveled,
-		unfit:   l.of.unfit,
-		ended:   l.of.ended,
-		tries:   l.of.tries,
+		size:    of.size,
+		free:    l.rises.number(of.free-1, l.under) + 1,
+		low:     l.rises.number(of.low, l.under),
+		exact:   of.exact,
+		leveled: of.leveled,
+		unfit:   of.unfit,
 	}
 }
 
-// number is what becomes of a variable.
-func (l *lift) number(n int) int {
-	ahead := sort.Search(len(l.rises), func(i int) bool { return l.rises[i].from+l.under > n })
-	return n + l.by(ahead)
+// args are what stands below what l says. It is lifted once it is asked for, too.
+func (l *lift) args() []*Node {
+	out := slices.Clone(l.of.Args())
+	for i, a := range out {
+		out[i] = l.below(a, l.under+l.of.binds(i))
+	}
+	return out
 }
 
-// by is by how much variables are greater behind so many rises.
-func (l *lift) by(ahead int) int {
-	if ahead == 0 {
-		return 0
-	}
-	return l.rises[ahead-1].by
-}
-
-// cut is a place among the variables of a lift.
-type cut struct {
-	from  int // where the lift's term is counted
-	ahead int // rises that begin there or ahead of it
-}
-
-// cut is where the variables begin that become from or greater.
-func (l *lift) cut(from int) cut {
-	from -= l.under
-	c := cut{from, 0}
-	for c.ahead < len(l.rises) && c.from >= l.rises[c.ahead].from {
-		r := l.rises[c.ahead]
-		c = cut{max(from-r.by, r.from), c.ahead + 1}
-	}
-	return c
-}
-
-// more is l with all from c on greater by by more.
-func (l lift) more(by int, c cut) lift {
-	rises := append([]rise(nil), l.rises[:c.ahead]...)
-	if last := c.ahead - 1; c.ahead > 0 && rises[last].from == c.from {
-		rises = rises[:last]
-	}
-	if r := (rise{c.from, l.by(c.ahead) + by}); r.by > l.by(len(rises)) {
-		rises = append(rises, r)
-	}
-	for _, r := range l.rises[c.ahead:] {
-		rises = append(rises, rise{r.from, r.by + by})
-	}
-	l.raise = &raise{rises: rises}
-	return l
-}
-
-// without is l with all that become from or greater less by count, if none becomes one of so many from there on.
-// Else it is nil.
-func (l *lift) without(from, count int) *Node {
-	c := l.cut(from)
-	if c.from+l.by(c.ahead)+l.under < from+count {
-		return nil
-	}
-	return l.more(-count, c).node()
-}
-
-// below is n, which stands below l's term and so many of its binders, as it stands below what l says.
+// below is n, which stands below the lift's term and so many binders, as it stands below what l says.
 func (l *lift) below(n *Node, binders int) *Node {
-	return l.one(spot{n, l.under + binders}, l.at)
+	switch {
+	case n.late != nil || n.isGreat():
+		return l.lifts.turned(n, l.rises, binders)
+	case !l.rises.turns(n, binders):
+		return n
+	case n.Is(api.TermVar):
+		return variable(l.rises.number(n.number, binders))
+	}
+	return l.lifts.late(lift{n, binders, l.raise})
 }
 
-// at is the part at s, as it stands below what l says.
-func (l *lift) at(s spot) *Node {
-	if s.of.late == nil {
-		return lift{s.of, s.binders, l.raise}.node()
+// isLike tells whether l and o do the same to two terms.
+func (l *lift) isLike(o *lift) bool {
+	return l.under == o.under && (l.raise == o.raise || slices.Equal(l.rises, o.rises))
+}
+
+// shift is by how much l makes all variables greater, or less; 0, if it does not the same to all.
+func (l *lift) shift() int {
+	if len(l.rises) == 1 && l.rises[0].from+l.under <= l.of.low {
+		return l.rises[0].by
 	}
-	// The last one comes first: it begins elsewhere once there are those ahead of it.
-	n := s.of
-	for i := len(l.rises) - 1; i >= 0; i-- {
-		n = lifted(n, l.rises[i].by-l.by(i), l.rises[i].from+s.binders)
+	return 0
+}
+
+// Base is what n lifts, or n itself.
+func (n *Node) Base() *Node {
+	if n.late != nil {
+		return n.late.of
 	}
 	return n
 }
 
-// feed is a term lifted by times, and applied to as many variables, the outermost one first.
-type feed struct {
-	of    *Node
-	times int
-}
-
-// Fed is n below one binder more, applied to the variable that this binds. What is fed again and again takes no more
-// room for that, as long as nobody asks what stands in it.
-func (n *Node) Fed() *Node {
-	f := feed{n, 0}
-	if n.fed != nil {
-		f = *n.fed
-	}
-	out := fed(f.of, f.times+1)
-	out.ended, out.tries = n.ended, n.tries
-	return out
-}
-
-// fed is n lifted by times, and applied to as many variables.
-func fed(n *Node, times int) *Node {
-	if times == 0 {
-		return n
-	}
-	return &Node{
-		fed:     &feed{n, times},
-		size:    min(n.size+2*times, mostSize),
-		free:    n.free + times,
-		leveled: n.leveled,
-		unfit:   n.unfit,
-	}
-}
-
-// show makes what stands in n itself, and leaves what stands below for later.
-func (n *Node) show() {
+// LiftedAs is n with its free variables turned as those of like's Base are in like.
+func (n *Node) LiftedAs(like *Node) *Node {
+	l := like.late
 	switch {
-	case n.late != nil:
-		n.showLifted()
-	case n.fed != nil:
-		n.showFed()
+	case l == nil:
+		return n
+	case l.of == n:
+		return like
 	}
+	return l.lifts.turned(n, l.rises, l.under)
 }
 
-func (n *Node) showLifted() {
-	l := n.late
-	n.late = nil
-	of := l.of
-	of.show()
-	n.kind, n.number, n.name, n.levels = of.kind, of.number, of.name, of.levels
-	if len(of.args) == 0 { // of all that have none, only a Var that is lifted is ever late
-		n.number = l.number(of.number)
-		return
-	}
-	n.args = make([]*Node, len(of.args))
-	for i, a := range of.args {
-		n.args[i] = l.below(a, n.binds(i))
-	}
-}
-
-func (n *Node) showFed() {
-	f := n.fed
-	n.fed = nil
-	n.kind = api.TermApp
-	n.args = []*Node{lifted(fed(f.of, f.times-1), 1, 0), variable(0)}
+// Lowered is n, which does not use the variable 0, with all others less by one.
+func (b *Book) Lowered(n *Node) *Node {
+	return b.lifts.lifted(n, -1, 1)
 }

@@ -18,8 +18,8 @@ func (l Levels) Len() int {
 	return len(l.list)
 }
 
-// At is the i-th of them.
-func (l Levels) At(i int) api.Level {
+// at is the i-th of them.
+func (l Levels) at(i int) api.Level {
 	if l.by == nil {
 		return l.list[i]
 	}
@@ -29,7 +29,7 @@ func (l Levels) At(i int) api.Level {
 // all are all of them, as they are.
 func (l Levels) all() (list []api.Level) {
 	for i := range l.list {
-		list = append(list, l.At(i))
+		list = append(list, l.at(i))
 	}
 	return list
 }
@@ -42,15 +42,15 @@ func (l Levels) put() []api.Level {
 	return *l.by
 }
 
-// Place is where a Level lies, and what is put in it: Levels of one place are one, with all behind them.
-type Place struct {
+// levelPlace is where a Level lies, and what is put in it: Levels of one place are one, with all behind them.
+type levelPlace struct {
 	level *api.Level
 	by    *[]api.Level
 }
 
-// Place is the i-th one's.
-func (l Levels) Place(i int) Place {
-	return Place{&l.list[i], l.by}
+// place is the i-th one's.
+func (l Levels) place(i int) levelPlace {
+	return levelPlace{&l.list[i], l.by}
 }
 
 // parameter is what is put in the place of l itself, or nil.

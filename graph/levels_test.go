@@ -58,7 +58,7 @@ func TestLevelsLikeTerms(t *testing.T) {
 		if meter.Fits(api.Meter{Cells: 9}, x) != api.OK {
 			continue
 		}
-		n := relevelBy(by).of(Read(&x))
+		n := relevelBy(by).with(Read(&x))
 		want := term.Levels(x, by)
 		if got, ok := n.Told(); !ok || !term.Equal(got, want) {
 			t.Fatalf("Levels %v in %+v: %+v, want %+v", by, x, got, want)
@@ -68,9 +68,9 @@ func TestLevelsLikeTerms(t *testing.T) {
 			t.Fatalf("Levels %v in %+v: unfit %v, size %d", by, x, n.unfit, n.size)
 		}
 		told[fits]++
-		l := n.Args()[0].Levels()
+		l := n.Args()[0].levels()
 		for i, want := range want.Args[0].Levels {
-			if got := l.At(i); !level.Equal(got, want) || l.Len() != len(c.Levels) {
+			if got := l.at(i); !level.Equal(got, want) || l.Len() != len(c.Levels) {
 				t.Fatalf("Level %d: %v, want %v", i, got, want)
 			}
 		}

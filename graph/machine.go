@@ -11,7 +11,7 @@ type machine struct {
 	book  *Book
 	meter api.Meter
 	tasks []*task // the term, then the major of each one ahead that is a recursor's
-	loop  loop
+	loop  Loop
 }
 
 // task is a term of which steps are taken.
@@ -20,6 +20,7 @@ type task struct {
 	spine *spine // what became of it
 	took  int    // steps of it
 	fuel  int    // what was left behind the last of these
+	lap   lap
 }
 
 // term is what became of t: itself, if it took no step.
@@ -49,9 +50,8 @@ steps:
 			}
 		}
 		if f := x.book.recursor(s); f != nil {
-			if x.loop.closes(x.tasks) { // and takes all steps that there are
-				x.meter.Fuel = 0
-				return api.ErrFuel
+			if x.comesRound() {
+				return x.starve()
 			}
 			known, err := x.openMajor(s.at(f.major()))
 			if err != api.OK {
@@ -83,10 +83,10 @@ func (x *machine) open(n *Node) {
 // openMajor begins with a major. known: that takes no step.
 func (x *machine) openMajor(n *Node) (known bool, err api.Errno) {
 	x.open(n)
-	if n.ended {
+	if known = n.Base().ended; known {
 		_, x.meter, err = n.again(x.meter)
 	}
-	return n.ended, err
+	return known, err
 }
 
 // last is the task that was opened last.
@@ -110,6 +110,7 @@ func (x *machine) take(change func()) (err api.Errno) {
 	if x.meter, err = meter.Step(x.meter); err != api.OK {
 		return err
 	}
+	x.book.lifts.forget()
 	t := x.last()
 	change()
 	if !t.spine.fits(x.meter.Cells) {
@@ -117,7 +118,16 @@ func (x *machine) take(change func()) (err api.Errno) {
 	}
 	t.took++
 	t.fuel = x.meter.Fuel
+	if t.lap.closes(t.spine, t.took) {
+		return x.starve()
+	}
 	return api.OK
+}
+
+// starve is what comes of steps without end: they take all the fuel that there is.
+func (x *machine) starve() api.Errno {
+	x.meter.Fuel = 0
+	return api.ErrFuel
 }
 
 // lam is what a step does to s, if that is a Lam with an argument.
@@ -125,13 +135,7 @@ func (x *machine) lam(s *spine) func() {
 	if !s.head.Is(api.TermLam) || len(s.args) == 0 {
 		return nil
 	}
-	return s.enterLam
-}
-
-func (s *spine) enterLam() {
-	value := s.at(0)
-	s.drop(1)
-	s.enter(putOf(value).below(s.head.args[1], 0))
+	return entering{s, &x.book.lifts}.lam
 }
 
 // let is what a step does to s, if that is a Let.
@@ -139,28 +143,41 @@ func (x *machine) let(s *spine) func() {
 	if !s.head.Is(api.TermLet) {
 		return nil
 	}
-	return s.enterLet
+	return entering{s, &x.book.lifts}.let
 }
 
-func (s *spine) enterLet() {
-	s.enter(putOf(s.head.args[1]).below(s.head.args[2], 0))
+// entering is a term whose head has a variable for which something is put in.
+type entering struct {
+	*spine
+	lifts *lifts
+}
+
+func (s entering) lam() {
+	value := s.at(0)
+	s.drop(1)
+	s.enter(s.lifts.put(value).below(s.head.Args()[1], 0))
+}
+
+func (s entering) let() {
+	args := s.head.Args()
+	s.enter(s.lifts.put(args[1]).below(args[2], 0))
 }
 
 // definition is what a step does to s, if that is a definition.
 func (x *machine) definition(s *spine) func() {
-	value := x.book.of(s.head).value
-	if value == nil {
+	f := x.book.of(s.head)
+	if f == nil || f.value == nil {
 		return nil
 	}
-	return defined{s, value}.enter
+	return defined{s, f}.enter
 }
 
-// defined is a term whose head is a definition of that value.
+// defined is a term whose head is a definition.
 type defined struct {
-	t     *spine
-	value *Node
+	*spine
+	fact *fact
 }
 
-func (d defined) enter() {
-	d.t.enter(relevelBy(d.t.head.levels.all()).of(d.value))
+func (s defined) enter() {
+	s.spine.enter(s.fact.valueAt(s.head))
 }

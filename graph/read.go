@@ -33,22 +33,19 @@ func Read(t *api.Term) (out *Node) {
 		last := len(open) - 1
 		from, to := open[last].from, open[last].to
 		open = open[:last]
-		n := &Node{kind: from.Kind, number: from.N, name: from.Name, levels: Levels{list: from.Levels}}
+		n := &Node{kind: from.Kind, number: from.N, label: labelOf(from.Name, Levels{list: from.Levels})}
 		n.unfit = !levels.fit(from.Levels)
-		n.args = make([]*Node, len(from.Args))
+		if len(from.Args) > 0 {
+			n.args = make([]*Node, len(from.Args))
+		}
 		for i := range from.Args {
 			open = append(open, reading{&from.Args[i], &n.args[i]})
 		}
 		*to = n
 		all = append(all, n)
 	}
-	settleAll(all)
-	return out
-}
-
-// settleAll settles nodes that were made one by one, each ahead of its args.
-func settleAll(all []*Node) {
 	for _, n := range slices.Backward(all) {
 		n.settle()
 	}
+	return out
 }

@@ -11,7 +11,7 @@ type spine struct {
 // arg is what a head is applied to, and how great it is with all that stand behind it, and their Apps.
 type arg struct {
 	node  *Node
-	size  int
+	size  uint64
 	unfit bool
 }
 
@@ -33,10 +33,10 @@ func (s *spine) enter(t *Node) {
 
 // push brings an argument ahead of all others.
 func (s *spine) push(n *Node) {
-	a := arg{n, n.size + 1, n.unfit}
+	a := arg{n, sum(n.size, 1), n.unfit}
 	if len(s.args) > 0 {
 		behind := s.args[len(s.args)-1]
-		a.size = min(a.size+behind.size, mostSize)
+		a.size = sum(a.size, behind.size)
 		a.unfit = a.unfit || behind.unfit
 	}
 	s.args = append(s.args, a)
@@ -73,10 +73,10 @@ func (s *spine) fits(cells int) bool {
 	size, unfit := s.head.size, s.head.unfit
 	if len(s.args) > 0 {
 		all := s.args[len(s.args)-1]
-		size += all.size
+		size = sum(size, all.size)
 		unfit = unfit || all.unfit
 	}
-	return size <= cells && !unfit
+	return size <= uint64(max(cells, 0)) && !unfit
 }
 
 // Spine is n's head, that is no App, and what it is applied to, in order.
@@ -85,17 +85,17 @@ func (n *Node) Spine() (head *Node, args []*Node) {
 	return s.head, s.between(0, len(s.args))
 }
 
-// applied is n, applied to args in order.
-func applied(n *Node, args []*Node) *Node {
+// Applied is n, applied to args in order.
+func (n *Node) Applied(args []*Node) *Node {
 	for _, a := range args {
-		n = branch(api.TermApp, n, a)
+		n = Branch(api.TermApp, n, a)
 	}
 	return n
 }
 
 // first is s's head, applied to so many of its arguments.
 func (s *spine) first(count int) *Node {
-	return applied(s.head, s.between(0, count))
+	return s.head.Applied(s.between(0, count))
 }
 
 // term is s as a term.

@@ -20,7 +20,8 @@ func (b *Book) Once(t *Node, m api.Meter) (u *Node, did bool, n api.Meter, err a
 
 // Whnf is t behind all steps that its head takes: t itself, if it takes none. n is what is left of m.
 func (b *Book) Whnf(t *Node, m api.Meter) (u *Node, n api.Meter, err api.Errno) {
-	if t.ended {
+	b.lifts.forget()
+	if t.Base().ended {
 		return t.again(m)
 	}
 	x := machine{book: b, meter: m}
@@ -50,16 +51,18 @@ func (b *Book) Iota(t, major *Node) (u *Node, did bool) {
 // end notes that n takes no step, applied to variables either, and how many its majors take each time one is asked for.
 func (n *Node) end(tries int) {
 	if !n.Is(api.TermLam) {
-		n.ended, n.tries = true, tries
+		base := n.Base()
+		base.ended, base.tries = true, tries
 	}
 }
 
 // again is what becomes of n, which is known to take no step, when it is asked for steps once more.
 func (n *Node) again(m api.Meter) (u *Node, left api.Meter, err api.Errno) {
-	if n.tries > max(m.Fuel, 0) {
+	tries := n.Base().tries
+	if tries > max(m.Fuel, 0) {
 		m.Fuel = min(m.Fuel, 0)
 		return nil, m, api.ErrFuel
 	}
-	m.Fuel -= n.tries
+	m.Fuel -= tries
 	return n, m, api.OK
 }

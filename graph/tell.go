@@ -28,6 +28,18 @@ type renewal struct {
 	by    []api.Level
 }
 
+// Tell is n as an api.Term, unless there was an error. One that is too great to be told is greater than may be.
+func Tell(n *Node, err api.Errno) (api.Term, api.Errno) {
+	if err != api.OK {
+		return api.Term{}, err
+	}
+	t, ok := n.Told()
+	if !ok {
+		return api.Term{}, api.ErrCells
+	}
+	return t, api.OK
+}
+
 // Told is n as an api.Term. Not ok: it is too great.
 func (n *Node) Told() (out api.Term, ok bool) {
 	if n.size > mostTold {
@@ -48,17 +60,17 @@ func (n *Node) Told() (out api.Term, ok bool) {
 // tell brings p's node to its place. What stands below it comes later.
 func (t *telling) tell(p place) bool {
 	n := p.from
-	n.show()
-	*p.to = api.Term{Kind: n.kind, N: n.number, Name: n.name, Levels: append([]api.Level(nil), n.levels.list...)}
-	if len(n.args) > 0 {
-		p.to.Args = make([]api.Term, len(n.args))
+	args, levels := n.glance(), n.levels()
+	*p.to = api.Term{Kind: n.kind, N: n.number, Name: n.name(), Levels: append([]api.Level(nil), levels.list...)}
+	if len(args) > 0 {
+		p.to.Args = make([]api.Term, len(args))
 	}
-	for i, a := range n.args {
+	for i, a := range args {
 		t.open = append(t.open, place{a, &p.to.Args[i]})
 	}
-	t.left -= n.levels.Len()
+	t.left -= levels.Len()
 	for i := range p.to.Levels {
-		if !t.renew(renewal{&p.to.Levels[i], n.levels.put()}) {
+		if !t.renew(renewal{&p.to.Levels[i], levels.put()}) {
 			return false
 		}
 	}

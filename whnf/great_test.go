@@ -167,6 +167,41 @@ func TestDoubledOnTheWay(t *testing.T) {
 	}
 }
 
+// P13.1, P13.2: what a step makes is counted as far as there may be cells: it fits just as many as it has parts.
+func TestCountsUpToAllCells(t *testing.T) {
+	const lets, fuel = 70, 1000
+	x := con("d")
+	for range lets - 1 {
+		x = let(con("a"), app(v(0), v(0)), x)
+	}
+	x = let(con("a"), con("c"), x)
+	// Behind so many steps: a Let of a value of 2^(steps+1) - 1 parts, and the others.
+	size := func(steps int) int { return 1<<(steps+1) + 5*(lets-1-steps) + 2 }
+	fails := map[int]int{math.MaxInt: 62, math.MaxInt - 1: 62} // cells, and which step makes what does not fit
+	for steps := 3; steps <= 61; steps++ {
+		fails[size(steps)] = steps + 1
+		fails[size(steps)-1] = steps
+	}
+	for cells, steps := range fails {
+		m := api.Meter{Fuel: fuel, Cells: cells}
+		if u, n, err := whnf.Whnf(nil, x, m); !term.Equal(u, api.Term{}) || n != (api.Meter{Fuel: fuel - steps, Cells: cells}) || err != api.ErrCells {
+			t.Errorf("with %d cells: %s, %v, %d, want ErrCells behind %d steps", cells, show(u), n, err, steps)
+		}
+	}
+	// The last step of as many as fit ends in what is small.
+	for lets := 2; lets <= 62; lets++ {
+		x := con("d")
+		for range lets - 1 {
+			x = let(con("a"), app(v(0), v(0)), x)
+		}
+		x = let(con("a"), con("c"), x)
+		m := api.Meter{Fuel: fuel, Cells: math.MaxInt}
+		if u, n, err := whnf.Whnf(nil, x, m); !term.Equal(u, con("d")) || n.Fuel != fuel-lets || err != api.OK {
+			t.Errorf("%d Lets: %s, %v, %d, want d", lets, show(u), n, err)
+		}
+	}
+}
+
 // P13.1, P13.2: majors in majors, as deep as parts may be nested, that come to a constructor, or to none.
 func TestManyMajors(t *testing.T) {
 	const deep = 1 << 16

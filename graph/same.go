@@ -1,20 +1,19 @@
-package conv
+package graph
 
 import (
 	"touchstone/api"
-	"touchstone/graph"
 	"touchstone/level"
 	"touchstone/term"
 )
 
 // twoLists are lists of Levels, as many, that are held against each other place by place.
-type twoLists struct{ a, b graph.Levels }
+type twoLists struct{ a, b Levels }
 
 // places are where two Levels lie that are held against each other.
-type places struct{ a, b graph.Place }
+type places struct{ a, b levelPlace }
 
 func (l twoLists) places(i int) places {
-	return places{l.a.Place(i), l.b.Place(i)}
+	return places{l.a.place(i), l.b.place(i)}
 }
 
 // same tells whether the Levels at a place are the Same. Levels that are greater than may be are so at least if they
@@ -23,7 +22,7 @@ func (l twoLists) same(i int) bool {
 	if p := l.places(i); p.a == p.b {
 		return true
 	}
-	a, b := l.a.At(i), l.b.At(i)
+	a, b := l.a.at(i), l.b.at(i)
 	return level.Equal(a, b) || level.Same(a, b) || term.Equal(sortOf(a), sortOf(b))
 }
 
@@ -32,7 +31,7 @@ func sortOf(l api.Level) api.Term {
 }
 
 // sameLevels tells whether a and b are as many, and the Same place by place.
-func (k *likeness) sameLevels(a, b graph.Levels) bool {
+func (k *likeness) sameLevels(a, b Levels) bool {
 	if a.Len() != b.Len() {
 		return false
 	}
