@@ -58,23 +58,25 @@ func TestDeep(t *testing.T) {
 		what          string
 		by            func(t api.Term) api.Term
 		before, after int // steps for each, ahead of what stands in it and behind
+		unlike        int // ahead of what stands in it, where this takes none
 	}{
-		{"the only argument", func(t api.Term) api.Term { return app(con("suc"), t) }, 1, 0},
-		{"the first argument", func(t api.Term) api.Term { return app(con("f"), t, con("a")) }, 1, 1},
-		{"the last argument", func(t api.Term) api.Term { return app(con("f"), con("a"), t) }, 2, 0},
-		{"the type of a Lam", func(t api.Term) api.Term { return lam(t, con("a")) }, 1, 1},
-		{"a Lam", func(t api.Term) api.Term { return lam(con("a"), t) }, 2, 0},
-		{"the type of a Pi", func(t api.Term) api.Term { return pi(t, con("a")) }, 1, 1},
-		{"a Pi", func(t api.Term) api.Term { return pi(con("a"), t) }, 2, 0},
-		{"an argument in a Lam", func(t api.Term) api.Term { return lam(con("a"), app(con("f"), t)) }, 3, 0},
-		{"an argument's type", func(t api.Term) api.Term { return app(con("f"), pi(t, v(0)), con("a")) }, 2, 2},
-		{"a major", func(t api.Term) api.Term { return app(of(`(((Nat.rec{0} C) a) b)`), t) }, 6, 0}, // 2 of them for the majors below
+		{"the only argument", func(t api.Term) api.Term { return app(con("suc"), t) }, 1, 0, 1},
+		{"the first argument", func(t api.Term) api.Term { return app(con("f"), t, con("a")) }, 1, 1, 1},
+		{"the last argument", func(t api.Term) api.Term { return app(con("f"), con("a"), t) }, 2, 0, 2},
+		{"the type of a Lam", func(t api.Term) api.Term { return lam(t, con("a")) }, 1, 1, 1},
+		{"a Lam", func(t api.Term) api.Term { return lam(con("a"), t) }, 2, 0, 2},
+		{"the type of a Pi", func(t api.Term) api.Term { return pi(t, con("a")) }, 1, 1, 1},
+		{"a Pi", func(t api.Term) api.Term { return pi(con("a"), t) }, 2, 0, 2},
+		{"an argument in a Lam", func(t api.Term) api.Term { return lam(con("a"), app(con("f"), t)) }, 3, 0, 3},
+		{"an argument's type", func(t api.Term) api.Term { return app(con("f"), pi(t, v(0)), con("a")) }, 2, 2, 2},
+		{"a major", func(t api.Term) api.Term { return app(of(`(((Nat.rec{0} C) a) b)`), t) }, 6, 0, 4}, // 2 of them for the majors below
 	} {
 		for _, deep := range []int{100, 1 << 16} {
 			a := around(app(con("i"), con("c")), deep, x.by)
 			want(t, fmt.Sprint(deep, " times ", x.what, ", alike in meaning"), e, a, around(con("c"), deep, x.by), great, true, deep*(x.before+x.after)+3)
 			want(t, fmt.Sprint(deep, " times ", x.what, ", not alike"), e, a, around(con("d"), deep, x.by), great, false, deep*x.before+3)
 			want(t, fmt.Sprint(deep, " times ", x.what, ", itself"), e, a, a, great, true, 1)
+			want(t, fmt.Sprint(deep, " times ", x.what, ", unlike at the end alone"), e, around(con("c"), deep, x.by), around(con("d"), deep, x.by), great, false, deep*x.unlike+1)
 		}
 	}
 }

@@ -101,6 +101,7 @@ func common() *env.Env {
 		def("id", 1, "\\*p0. \\#0. #0"), def("two", 0, "(suc (suc zero))"), def("sorts", 2, "\\*p0. \\*p1. (f *Mp0Sp1)"),
 		def("plus", 0, "\\Nat. \\Nat. ((((Nat.rec{S0} \\Nat. Nat) #1) \\Nat. \\Nat. (suc #0)) #0)"),
 		def("i", 0, "\\a. #0"), def("g", 0, "f"), def("eta", 0, "\\a. (f #0)"),
+		def("o", 0, "#0"), def("open", 0, "(#1 \\a. (#3 #0))"), def("fo", 1, "\\a. ((f #0) #1)"), family("Odd", 0, "*0", "odd", "!!#0. !#2. Odd. Odd"), rec("Odd.rec", 0, "Odd"),
 		def("loop", 0, "loop"), def("lams", 0, "\\a. lams"), def("pis", 0, "!pis. b"), def("lamsof", 1, "\\*p0. (lamsof{p0} #0)"),
 		api.Decl{Kind: api.DeclAxiom, Name: "a", Type: of("*0")}, api.Decl{Kind: api.DeclAxiom, Name: "f", Type: of("*0")},
 	)
@@ -203,7 +204,8 @@ func (k maker) con() api.Term {
 		name   string
 		levels int
 	}{{"a", 0}, {"f", 0}, {"c", 1}, {"zero", 0}, {"suc", 0}, {"Nat", 0}, {"two", 0}, {"id", 1}, {"sorts", 2}, {"plus", 0}, {"i", 0}, {"g", 0}, {"eta", 0},
-		{"Nat.rec", 1}, {"Empty.rec", 1}, {"Eq.rec", 2}, {"refl", 1}, {"loop", 0}, {"lams", 0}, {"pis", 0}, {"lamsof", 1}, {"i", 0}, {"g", 0}, {"eta", 0}}
+		{"Nat.rec", 1}, {"Empty.rec", 1}, {"Eq.rec", 2}, {"refl", 1}, {"loop", 0}, {"lams", 0}, {"pis", 0}, {"lamsof", 1}, {"i", 0}, {"g", 0}, {"eta", 0},
+		{"o", 0}, {"open", 0}, {"fo", 1}, {"Odd.rec", 0}, {"odd", 0}}
 	x := all[k.Intn(len(all))]
 	if k.Intn(20) == 0 {
 		x.levels = k.Intn(3)
@@ -398,6 +400,56 @@ func TestLessFuel(t *testing.T) {
 			if is, n, err := conv.Conv(e, a, b, api.Meter{Fuel: fuel, Cells: 1000}); is || n != (api.Meter{Cells: 1000}) || err != api.ErrFuel {
 				t.Fatalf("Conv of %s, %s with fuel %d: %v, %v, %d, want ErrFuel", show(a), show(b), fuel, is, n, err)
 			}
+		}
+	}
+}
+
+// doubling: a term that has the variable 0 several times, below no or several binders.
+func (k maker) doubling() api.Term {
+	switch k.Intn(5) {
+	case 0:
+		return app(v(0), v(0))
+	case 1:
+		return app(con("f"), v(0), lam(con("a"), app(v(0), v(1))))
+	case 2:
+		return app(con("f"), lam(v(0), app(v(1), v(0), v(1))))
+	case 3:
+		return pi(v(0), lam(con("a"), app(v(2), v(2))))
+	}
+	return app(con("f"), k.term(2, 2), v(0), v(0))
+}
+
+// P14.2: of terms that are great on the way, and share their parts, in one way or another, Conv tells what the chapter's
+// words say.
+func TestSharedAgainstModel(t *testing.T) {
+	e := common()
+	k := makerOf(18)
+	told := map[string]int{}
+	for range 6000 {
+		x := k.term(1+k.Intn(2), 3)
+		y := k.twist(x, 15)
+		for range 3 + k.Intn(5) {
+			d := k.doubling()
+			x, y = app(lam(k.term(1, 2), x), d), app(lam(k.term(1, 2), y), k.twist(d, 25))
+		}
+		end := k.term(2, 2)
+		x, y = app(lam(con("a"), x), end), app(lam(con("a"), y), k.twist(end, 15))
+		if k.Intn(2) == 0 { // one is written out
+			if u, _, err := whnf.Whnf(e, y, api.Meter{Fuel: 100, Cells: 3000}); err == api.OK {
+				y = u
+			}
+		}
+		m := api.Meter{Fuel: 300, Cells: 3000}
+		is, n, err := hold(t, e, x, y, m)
+		told[fmt.Sprint(is, err)]++
+		if m.Fuel-n.Fuel > 50 && is {
+			told["long ones"]++
+		}
+	}
+	for what, least := range map[string]int{"true 0": 1000, "false 0": 200, "long ones": 100} {
+		if told[what] < least {
+			t.Errorf("the terms are too tame: %v", told)
+			break
 		}
 	}
 }

@@ -12,6 +12,7 @@ type Book struct {
 	facts    map[string]*fact
 	lifts    lifts
 	likeness likeness
+	open     bool // see IsOpen
 }
 
 // NewBook is a Book of e, which is not to change as long as it is asked.
@@ -69,7 +70,7 @@ func (b *Book) family(name string) *family {
 	if d.Kind != api.DeclFamily || d.Count < 0 || d.Count > len(pis) {
 		return nil
 	}
-	f := &family{name: name, params: d.Count, indices: len(pis) - d.Count, lifts: &b.lifts}
+	f := &family{name: name, params: d.Count, indices: len(pis) - d.Count, book: b}
 	for i := range d.Ctors {
 		f.ctors = append(f.ctors, &ctor{name: d.Ctors[i].Name, typ: &d.Ctors[i].Type})
 	}

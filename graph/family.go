@@ -11,7 +11,7 @@ type family struct {
 	name            string
 	params, indices int
 	ctors           []*ctor
-	lifts           *lifts
+	book            *Book
 }
 
 // ctor is a constructor of a family.
@@ -98,7 +98,8 @@ func (c caseOf) hypotheses(fields []*Node) (list []*Node) {
 		if !f.isRecursive(typ) {
 			continue
 		}
-		h := hypothesis{fixed, f.lifts.put(given[:f.params+i]...), fields[i]}
+		f.book.open = f.book.open || typ.free > f.params+i
+		h := hypothesis{fixed, f.book.lifts.put(given[:f.params+i]...), fields[i]}
 		list = append(list, h.of(levels.with(typ), f.params))
 	}
 	return list

@@ -6,12 +6,18 @@ type End struct {
 	Steps int   // that it took
 }
 
-// End is what is known of where n comes to; nil, if nothing is. Of a lift it is the end of what that lifts.
+// End is what is known of where n comes to; nil, if nothing is.
 func (n *Node) End() *End {
-	return n.Base().goal
+	return n.goal
 }
 
-// Note keeps what is known of where n comes to, or what it lifts.
-func (n *Node) Note(e *End) {
-	n.Base().goal = e
+// SetEnd is what is known of where n comes to from now on.
+func (n *Node) SetEnd(e *End) {
+	n.goal = e
+}
+
+// IsOpen tells whether a step was taken by a declaration in which variables are free. It brings these as they are,
+// whatever it brings them to: so what comes of a lift need not be a lift of what comes of the term.
+func (b *Book) IsOpen() bool {
+	return b.open
 }

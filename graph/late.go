@@ -56,11 +56,11 @@ func (h *lifts) lifted(n *Node, by, from int) *Node {
 	if by == 0 || n.free <= from {
 		return n
 	}
-	return h.turned(n, rises{{from, by}}, 0)
+	return h.renumbered(n, rises{{from, by}}, 0)
 }
 
-// turned is n, below so many binders, with its free variables turned by r.
-func (h *lifts) turned(n *Node, r rises, binders int) *Node {
+// renumbered is n, below so many binders, with its free variables turned by r.
+func (h *lifts) renumbered(n *Node, r rises, binders int) *Node {
 	if !r.turns(n, binders) {
 		return n
 	}
@@ -146,7 +146,7 @@ func (l *lift) args() []*Node {
 func (l *lift) below(n *Node, binders int) *Node {
 	switch {
 	case n.late != nil || n.isGreat():
-		return l.lifts.turned(n, l.rises, binders)
+		return l.lifts.renumbered(n, l.rises, binders)
 	case !l.rises.turns(n, binders):
 		return n
 	case n.Is(api.TermVar):
@@ -185,7 +185,7 @@ func (n *Node) LiftedAs(like *Node) *Node {
 	case l.of == n:
 		return like
 	}
-	return l.lifts.turned(n, l.rises, l.under)
+	return l.lifts.renumbered(n, l.rises, l.under)
 }
 
 // Lowered is n, which does not use the variable 0, with all others less by one.

@@ -169,15 +169,17 @@ func (x *machine) definition(s *spine) func() {
 	if f == nil || f.value == nil {
 		return nil
 	}
-	return defined{s, f}.enter
+	return defined{s, f, x.book}.enter
 }
 
 // defined is a term whose head is a definition.
 type defined struct {
 	*spine
 	fact *fact
+	book *Book
 }
 
 func (s defined) enter() {
+	s.book.open = s.book.open || s.fact.value.free > 0
 	s.spine.enter(s.fact.valueAt(s.head))
 }

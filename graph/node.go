@@ -53,7 +53,7 @@ type Node struct {
 	free         int    // below which the numbers of its free variables are, as seen from outside
 	low          int    // from which on these are
 	tries        int    // steps of its majors, each time it is asked for one
-	goal         *End   // see End; of a lift, what it lifts knows this
+	goal         *End   // see End
 	class        int    // see classes
 	unlike       int    // a class of which it is none
 	hidden       bool   // its args are not made yet: see Args

@@ -204,6 +204,31 @@ func TestSharedOften(t *testing.T) {
 	}
 }
 
+// The same of terms that are lifted on one side alone.
+func TestLiftedOnOneSide(t *testing.T) {
+	b := NewBook(nil)
+	tree := func(leaf *Node) *Node {
+		for range 60 {
+			leaf = Branch(api.TermApp, Branch(api.TermLam, leaf, b.lifts.lifted(leaf, 1, 0)), leaf)
+		}
+		return leaf
+	}
+	x, y := b.lifts.lifted(tree(variable(3)), 4, 2), tree(variable(7))
+	if !b.AreAlike(Pair{x, y}) || !b.AreAlike(Pair{y, x}) || b.AreAlike(Pair{x, tree(variable(8))}) || b.AreAlike(Pair{y, tree(Read(&api.Term{Kind: api.TermConst}))}) {
+		t.Error("it is told otherwise whether lifts are alike")
+	}
+	plain := func(leaf *Node) *Node {
+		for range 60 {
+			leaf = Branch(api.TermApp, leaf, leaf)
+		}
+		return leaf
+	}
+	x, y = b.lifts.lifted(plain(variable(3)), 4, 2), plain(variable(7))
+	if !b.AreAlike(Pair{x, y}) || !b.AreAlike(Pair{y, x}) || x.least() != 7 {
+		t.Error("lifts of what has no binders are not alike")
+	}
+}
+
 // What is lifted again and again, and below its binders, has all lifts in one: no more rises than variables to tell apart.
 func TestFewRises(t *testing.T) {
 	leaf := api.Term{Kind: api.TermApp, Args: []api.Term{{Kind: api.TermVar}, {Kind: api.TermVar, N: 5}}}

@@ -102,6 +102,8 @@ func common() *env.Env {
 		def("i", 0, "\\a. #0"), def("g", 0, "f"), def("eta", 0, "\\a. (f #0)"), def("twice", 0, "\\a. ((f #0) #0)"),
 		def("loop", 0, "loop"), def("lams", 0, "\\a. lams"), def("pis", 0, "!pis. b"), def("row", 0, "(f row)"), def("lamsof", 1, "\\*p0. (lamsof{p0} #0)"),
 		def("grow", 0, "(f (grow grow))"), def("rise", 1, "!*p0. rise{Sp0}"),
+		// Of some the values have free variables, which a step brings as they are.
+		def("o", 0, "#0"), def("open", 0, "(#1 \\a. (#3 #0))"), def("fo", 1, "\\a. ((f #0) #1)"), family("Odd", 0, "*0", "odd", "!!#0. !#2. Odd. Odd"), rec("Odd.rec", 0, "Odd"),
 		api.Decl{Kind: api.DeclAxiom, Name: "a", Type: of("*0")}, api.Decl{Kind: api.DeclAxiom, Name: "f", Type: of("*0")},
 	)
 }
@@ -176,11 +178,14 @@ func (k maker) con() api.Term {
 		name   string
 		levels int
 	}{{"a", 0}, {"f", 0}, {"c", 1}, {"zero", 0}, {"suc", 0}, {"Nat", 0}, {"two", 0}, {"id", 1}, {"sorts", 2}, {"plus", 0}, {"i", 0}, {"g", 0}, {"eta", 0}, {"twice", 0},
-		{"Nat.rec", 1}, {"Empty.rec", 1}, {"Eq.rec", 2}, {"refl", 1}, {"Tree.rec", 1}, {"leaf", 0}, {"tree", 0}, {"i", 0}, {"g", 0}, {"eta", 0}, {"a", 0}, {"f", 0}, {"zero", 0},
+		{"Nat.rec", 1}, {"Empty.rec", 1}, {"Eq.rec", 2}, {"refl", 1}, {"Tree.rec", 1}, {"leaf", 0}, {"tree", 0}, {"i", 0}, {"g", 0}, {"eta", 0}, {"a", 0}, {"f", 0}, {"zero", 0}, {"o", 0}, {"open", 0}, {"fo", 1}, {"Odd.rec", 0}, {"odd", 0},
 		{"loop", 0}, {"lams", 0}, {"pis", 0}, {"row", 0}, {"lamsof", 1}, {"grow", 0}, {"rise", 1}}
 	count := len(all)
 	if k.Intn(8) > 0 {
 		count -= 7 // of those with an end
+	}
+	if count < len(all) && k.Intn(3) > 0 {
+		count -= 5 // of those that are closed
 	}
 	x := all[k.Intn(count)]
 	if k.Intn(20) == 0 {
@@ -221,6 +226,10 @@ func (k maker) term(deep, vars int) api.Term {
 		return k.function(deep, vars)
 	case 10:
 		return app(con("tree"), lam(con("Nat"), k.term(deep-1, vars+1)))
+	case 11:
+		if k.Intn(4) == 0 {
+			return app(con("Odd.rec"), k.term(deep-2, vars), k.term(deep-2, vars), app(con("odd"), k.term(deep-1, vars)))
+		}
 	}
 	return app(k.term(deep-1, vars), k.term(deep-1, vars))
 }

@@ -82,7 +82,14 @@ var recursors = []way{
 	{`((((Tree.rec{0} C) a) f) (tree #5))`, `((f #5) \Nat. ((((Tree.rec{0} C) a) f) (#6 #0)))`, 11}, {`((((Tree.rec{0} C) a) \a. \a. #0) (tree \Nat. leaf))`, `\Nat. a`, 8},
 }
 
-var allWays = [][]way{leaves, heads, lams, pis, functions, rows, stuck, recursors}
+// opens: definitions whose values have free variables, which a step brings as they are.
+var opens = []way{
+	{`o`, `#0`, 2}, {`\a. o`, `\a. #0`, 4}, {`\a. (f o)`, `f`, 5}, {`\a. ((f o) #0)`, `\a. ((f #0) #0)`, 6}, {`(open #0)`, `((#1 #2) #0)`, 7}, {`\a. (open #0)`, `(#0 #1)`, 9},
+	{`(\b. ((f #0) \a. #1) (open #0))`, `((f ((#1 #2) #0)) \a. ((#1 #2) #1))`, 18}, {`(\b. ((f \a. #1) #0) (open #5))`, `((f \a. ((#1 #2) #6)) ((#1 #2) #5))`, 18},
+	{`(\b. ((f #0) \a. #1) \a. ((f o) #1))`, `((f \a. ((f #0) #1)) \a. \a. ((f #0) #2))`, 16}, {`((f (\b. \a. #1 #3)) o)`, `((f \a. #4) #0)`, 7},
+}
+
+var allWays = [][]way{leaves, heads, lams, pis, functions, rows, stuck, recursors, opens}
 
 // P15.1: what Norm tells, how much fuel it takes, and that with less it is ErrFuel, and none is left.
 func TestNorm(t *testing.T) {

@@ -13,6 +13,7 @@ import (
 type work struct {
 	book  *graph.Book
 	meter api.Meter
+	lifts bool // the norm of a lift is that lift of a norm: there may be far more lifts of a term than it has parts
 	open  []begun
 	loop  graph.Loop
 }
@@ -20,7 +21,8 @@ type work struct {
 // begun is a term whose norm is being found.
 type begun struct {
 	of    *graph.Node
-	whnf  *graph.Node
+	by    *graph.Node   // what it lifts, if it is by the norm of that, or itself
+	whnf  *graph.Node   // of that
 	head  *graph.Node   // of that, if it is no Lam and no Pi
 	parts []*graph.Node // what stands in it beside its head: those that have their turn behind them as their norms
 	next  int           // the part that has its turn
@@ -28,10 +30,10 @@ type begun struct {
 	fuel  int           // what there was
 }
 
-// norm is n's norm, unless there was an error.
+// norm is n's norm, unless there was an error, or it turns out that nothing is known of lifts.
 func (w *work) norm(n *graph.Node) (out *graph.Node, err api.Errno) {
 	out, err = w.begin(n)
-	for err == api.OK && len(w.open) > 0 {
+	for err == api.OK && len(w.open) > 0 && !(w.lifts && w.book.IsOpen()) {
 		at := &w.open[len(w.open)-1]
 		if out != nil {
 			at.take(out)
@@ -54,19 +56,21 @@ func (b *begun) take(part *graph.Node) {
 
 // begin is n's norm, if that is known; nil, if it is begun.
 func (w *work) begin(n *graph.Node) (out *graph.Node, err api.Errno) {
-	if n.End() != nil {
-		return w.again(n)
+	b := begun{of: n, by: n, fuel: w.meter.Fuel}
+	if w.lifts {
+		b.by = n.Base()
 	}
-	b := begun{of: n, fuel: w.meter.Fuel}
+	if e := b.by.End(); e != nil {
+		return w.again(b, e)
+	}
 	if w.meter, err = meter.Step(w.meter); err != api.OK {
 		return nil, err
 	}
-	// What it lifts does as well, and other lifts of that have the same norm but for their variables.
-	if b.whnf, w.meter, err = w.book.Whnf(n.Base(), w.meter); err != api.OK {
+	if b.whnf, w.meter, err = w.book.Whnf(b.by, w.meter); err != api.OK {
 		return nil, err
 	}
 	b.split()
-	n.Note(new(graph.End))
+	b.by.SetEnd(new(graph.End))
 	w.open = append(w.open, b)
 	if w.comesRound() {
 		return nil, w.starve()
@@ -74,28 +78,35 @@ func (w *work) begin(n *graph.Node) (out *graph.Node, err api.Errno) {
 	return nil, api.OK
 }
 
+// again is the norm of b, which was found, or begun, before.
+func (w *work) again(b begun, e *graph.End) (*graph.Node, api.Errno) {
+	if e.Is == nil || e.Steps > w.meter.Fuel {
+		return nil, w.starve()
+	}
+	w.meter.Fuel -= e.Steps
+	return b.told(e.Is), api.OK
+}
+
+// told is b's norm, where out is that of what it is by.
+func (b *begun) told(out *graph.Node) *graph.Node {
+	if b.by == b.of {
+		return out
+	}
+	return out.LiftedAs(b.of)
+}
+
 // comesRound tells whether the term that was begun last stands in its own norm, as far as it can be seen.
 func (w *work) comesRound() bool {
 	last := len(w.open) - 1
 	return w.loop.Closes(last, func(mark int) bool {
-		return w.open[mark].of.Base().IsLike(w.open[last].of.Base())
+		return w.open[mark].by.IsLike(w.open[last].by)
 	})
 }
 
 // starve is what comes of a term that stands in its own norm: it takes all the fuel that there is.
 func (w *work) starve() api.Errno {
-	w.meter.Fuel = min(w.meter.Fuel, 0)
+	w.meter.Fuel = 0
 	return api.ErrFuel
-}
-
-// again is n's norm, which was found, or begun, before.
-func (w *work) again(n *graph.Node) (*graph.Node, api.Errno) {
-	e := n.End()
-	if e.Is == nil || e.Steps > w.meter.Fuel {
-		return nil, w.starve()
-	}
-	w.meter.Fuel -= e.Steps
-	return e.Is.LiftedAs(n), api.OK
 }
 
 // split finds the parts of b's Whnf.
@@ -117,8 +128,8 @@ func (w *work) end() (*graph.Node, api.Errno) {
 	if !out.Fits(w.meter.Cells) {
 		return nil, api.ErrCells
 	}
-	*b.of.End() = graph.End{Is: out, Steps: b.fuel - w.meter.Fuel}
-	return out.LiftedAs(b.of), api.OK
+	*b.by.End() = graph.End{Is: out, Steps: b.fuel - w.meter.Fuel}
+	return b.told(out), api.OK
 }
 
 // join is the norm of a term of whose Whnf all parts are norms.

@@ -202,6 +202,21 @@ func TestCountsUpToAllCells(t *testing.T) {
 	}
 }
 
+// P13.1, P13.2: what one step makes is far more than can be counted.
+func TestMoreThanCanBeCounted(t *testing.T) {
+	for count := 4; count < 70; count++ {
+		x := row(con("f"), v(0), count)
+		for range 61 { // the last Var 0 comes to 2^62 - 1 parts
+			x = app(lam(con("a"), x), app(v(0), v(0)))
+		}
+		x = app(lam(con("a"), x), con("c"))
+		m := api.Meter{Fuel: 100, Cells: math.MaxInt}
+		if u, n, err := whnf.Whnf(nil, x, m); !term.Equal(u, api.Term{}) || n != (api.Meter{Fuel: 100 - 62, Cells: math.MaxInt}) || err != api.ErrCells {
+			t.Errorf("%d times 2^62 - 1 parts: %s, %v, %d, want ErrCells behind 62 steps", count, show(u), n, err)
+		}
+	}
+}
+
 // P13.1, P13.2: majors in majors, as deep as parts may be nested, that come to a constructor, or to none.
 func TestManyMajors(t *testing.T) {
 	const deep = 1 << 16
@@ -273,6 +288,33 @@ func TestMajorsMuchAlike(t *testing.T) {
 		t.Errorf("down from %d: %s, %v, %d", count, show(u), n, err)
 	}
 }
+
+// P13.2: steps of which each makes much the same as others, but which come to an end.
+func TestStepsMuchAlike(t *testing.T) {
+	e := with(def("row", 0, `(row a)`), def("wide", 0, `\a. ((wide #0) #0)`), def("deep", 0, `\a. (deep (f #0))`), def("up", 1, `\a. (up{Sp0} #0)`),
+		family("Nat", 0, "*S0", "zero", "Nat", "suc", "!Nat. Nat"), rec("Nat.rec", 1, "Nat"), def("down", 0, `\Nat. ((((Nat.rec{0} C) f) \Nat. \Nat. (down #1)) #0)`))
+	for _, x := range []struct {
+		from         string
+		cells, steps int
+	}{{`row`, 999, 500}, {`row`, 1000, 500}, {`row`, 1001, 501}, {`(wide a)`, 999, 993}, {`(deep a)`, 999, 993}, {`(up{0} a)`, 999, 63}} {
+		m := api.Meter{Fuel: 100000, Cells: x.cells}
+		if u, n, err := whnf.Whnf(e, of(x.from), m); !term.Equal(u, api.Term{}) || err != api.ErrCells || n.Fuel != m.Fuel-x.steps {
+			t.Errorf("Whnf of %s with %d cells: %s, %d steps, %d, want ErrCells behind %d steps", x.from, x.cells, show(u), m.Fuel-n.Fuel, err, x.steps)
+		}
+	}
+	for _, number := range []int{10, 63, 64, 65, 1000} {
+		x := con("zero")
+		for range number {
+			x = app(con("suc"), x)
+		}
+		if u, n, err := whnf.Whnf(e, app(con("down"), x), plenty); !term.Equal(u, con("f")) || plenty.Fuel-n.Fuel != 5*number+3 || err != api.OK {
+			t.Errorf("down from %d: %s, %d steps, %d", number, show(u), plenty.Fuel-n.Fuel, err)
+		}
+	}
+}
+
+// plenty: more than much.
+var plenty = api.Meter{Fuel: 1 << 20, Cells: 1 << 20}
 
 // P13.2: a recursor goes down a great number.
 func TestGreatNumber(t *testing.T) {

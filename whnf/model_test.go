@@ -552,3 +552,48 @@ func TestNoNewVariables(t *testing.T) {
 		}
 	}
 }
+
+// doubling: a term that has the variable 0 several times, below no or several binders.
+func (k maker) doubling() api.Term {
+	switch k.Intn(6) {
+	case 0:
+		return app(v(0), v(0))
+	case 1:
+		return app(con("f"), v(0), lam(con("a"), app(v(0), v(1))))
+	case 2:
+		return lam(v(0), app(v(1), v(0), v(1)))
+	case 3:
+		return pi(v(0), lam(con("a"), app(v(2), v(2))))
+	case 4:
+		return app(k.ctor(3, 2), v(0), v(0))
+	}
+	return app(k.term(3, 2), v(0), v(0))
+}
+
+// P13.2: of terms that are great on the way, and share their parts, Whnf tells what the chapter's words say.
+func TestSharedAgainstModel(t *testing.T) {
+	great, steps := 0, 0
+	for seed := range int64(40) {
+		k := makerOf(seed)
+		for range 25 {
+			x := k.term(3+k.Intn(4), 3)
+			for range 3 + k.Intn(7) {
+				x = app(lam(k.term(1, 2), x), k.doubling())
+				if k.Intn(3) == 0 {
+					x = app(x, k.term(2, 2))
+				}
+			}
+			x = app(lam(con("a"), x), k.term(3, 2))
+			m := api.Meter{Fuel: 60, Cells: 6000}
+			holdWhnf(t, k.env, x, m)
+			u, n, err := whnf.Whnf(k.env, x, m)
+			if err == api.OK && term.Size(u, 1000) > 1000 {
+				great++
+			}
+			steps += m.Fuel - n.Fuel
+		}
+	}
+	if great < 60 || steps < 4000 {
+		t.Errorf("the terms are too tame: %d steps, %d ends that are great", steps, great)
+	}
+}

@@ -98,7 +98,7 @@ func TestWhnfWithoutEnd(t *testing.T) {
 		`loop`, `(loop a)`, `(\a. (#0 #0) \a. (#0 #0))`, `=a:\a. (#0 #0). (#0 #0)`, `((Empty.rec{0} C) loop)`, `sink`, `(sink sink)`,
 		`(\a. ((Empty.rec{0} C) (#0 #0)) \a. ((Empty.rec{0} C) (#0 #0)))`, `((((Nat.rec{0} C) a) b) ((((Nat.rec{0} C) loop) b) zero))`,
 	} {
-		for _, fuel := range []int{0, 1, 2, 1000, 200000} {
+		for _, fuel := range []int{0, 1, 2, 1000, 200000, api.MaxFuel, math.MaxInt} {
 			u, n, err := whnf.Whnf(e, of(s), api.Meter{Fuel: fuel, Cells: 100})
 			if err != api.ErrFuel || n != (api.Meter{Cells: 100}) || !term.Equal(u, api.Term{}) {
 				t.Errorf("Whnf of %s with fuel %d: %s, %v, %d, want ErrFuel", s, fuel, show(u), n, err)
