@@ -23,8 +23,8 @@ type opened struct {
 	next         int
 }
 
-// AreAlike tells whether p's terms are alike. However often they share parts, each great one is gone through once, or
-// as often as there are others that it is alike to.
+// AreAlike tells whether p's terms are alike. Of great parts that are it is noted: so no more pairs of these
+// are gone through than there are great parts, however often they are shared.
 func (b *Book) AreAlike(p Pair) bool {
 	b.lifts.forget()
 	return b.likeness.holds(p)
@@ -81,7 +81,7 @@ func (k *likeness) enters(p Pair) bool {
 		return false
 	case p.A == p.B:
 		return true
-	case !k.sameLevels(p.A.levels(), p.B.levels()):
+	case p.A.label != p.B.label && !k.sameLevels(p.A.levels(), p.B.levels()):
 		return false
 	case p.A.count() == 0 || k.classes.areOne(p):
 		return true
